@@ -1,0 +1,196 @@
+package exact
+
+import "cracknel/api"
+
+// A basis is a matrix in Hermite normal form without rows that are zero: the
+// one basis of this form of what its rows generate.
+type basis struct {
+	rows   matrix
+	pivots []int // the column of each row's pivot
+}
+
+// newBasis returns the basis of what the rows generate. It inserts row by row
+// and keeps the basis reduced: so its entries stay quotients of determinants
+// of the rows, and do not grow from step to step.
+func newBasis(rows matrix) basis {
+	var b basis
+	for _, row := range rows {
+		b.insert(append([]integer(nil), row...))
+	}
+	return b
+}
+
+// leads returns the number of zeros with which a vector begins.
+func leads(v []integer) int {
+	for i, x := range v {
+		if !x.isZero() {
+			return i
+		}
+	}
+	return len(v)
+}
+
+// insert adds a vector, which it uses up, to what the basis generates.
+func (b *basis) insert(v []integer) {
+	at := 0
+	for at < len(b.rows) && b.pivots[at] <= leads(v) {
+		if b.pivots[at] == leads(v) {
+			v = b.meet(at, v)
+		}
+		at++
+	}
+	if column := leads(v); column < len(v) {
+		b.place(at, column, v)
+	}
+	b.tidy()
+}
+
+// meet makes the pivot of a row divide v's entry in its column, by steps that
+// keep what the row and v generate, and returns v without that entry.
+func (b *basis) meet(k int, v []integer) []integer {
+	row, column := b.rows[k], b.pivots[k]
+	quotient, rest := v[column].over(row[column])
+	if rest.isZero() {
+		subtract(v, quotient, row)
+		b.reduce(v, k+1)
+		return v
+	}
+	g, s, t := factors(row[column].size, v[column].size)
+	if v[column].negative {
+		t = t.negated()
+	}
+	other := v[column].dividedBy(whole(g))
+	pivot := row[column].dividedBy(whole(g))
+	b.rows[k] = mix(s, row, t, v)
+	b.reduce(b.rows[k], k+1)
+	v = mix(pivot, v, other.negated(), row)
+	b.reduce(v, k+1)
+	return v
+}
+
+// place puts v, whose first entry that is not 0 is in that column, before the
+// row with the number at.
+func (b *basis) place(at, column int, v []integer) {
+	if v[column].negative {
+		for j := range v {
+			v[j] = v[j].negated()
+		}
+	}
+	b.rows = append(b.rows, nil)
+	copy(b.rows[at+1:], b.rows[at:])
+	b.rows[at] = v
+	b.pivots = append(b.pivots, 0)
+	copy(b.pivots[at+1:], b.pivots[at:])
+	b.pivots[at] = column
+}
+
+// tidy reduces each row by those below it.
+func (b *basis) tidy() {
+	for i := len(b.rows) - 1; i >= 0; i-- {
+		b.reduce(b.rows[i], i+1)
+	}
+}
+
+// reduce reduces v by the rows from a number on.
+func (b *basis) reduce(v []integer, from int) {
+	for k := from; k < len(b.rows); k++ {
+		column := b.pivots[k]
+		quotient, _ := v[column].over(b.rows[k][column])
+		subtract(v, quotient, b.rows[k])
+	}
+}
+
+// subtract subtracts a multiple of a row from v.
+func subtract(v []integer, factor integer, row []integer) {
+	if factor.isZero() {
+		return
+	}
+	for j, x := range row {
+		if !x.isZero() {
+			v[j] = v[j].minus(factor.times(x))
+		}
+	}
+}
+
+// mix returns s·a + t·b.
+func mix(s integer, a []integer, t integer, b []integer) []integer {
+	out := make([]integer, len(a))
+	for j := range out {
+		out[j] = s.times(a[j]).plus(t.times(b[j]))
+	}
+	return out
+}
+
+// asBasis returns the rows of a matrix in Hermite normal form that are not
+// zero as a basis, or false if the matrix has another form.
+func asBasis(m matrix) (basis, bool) {
+	var b basis
+	for i, row := range m {
+		column, n := leads(row), len(b.rows)
+		if column == len(row) {
+			continue
+		}
+		afterZero := n < i
+		if afterZero || n > 0 && column <= b.pivots[n-1] || row[column].negative {
+			return basis{}, false
+		}
+		b.rows = append(b.rows, row)
+		b.pivots = append(b.pivots, column)
+	}
+	return b, b.isReduced()
+}
+
+// isReduced reports whether all entries above pivots are 0 or more, and less
+// than the pivot.
+func (b *basis) isReduced() bool {
+	for k, column := range b.pivots {
+		for _, row := range b.rows[:k] {
+			if row[column].negative || row[column].compare(b.rows[k][column]) >= 0 {
+				return false
+			}
+		}
+	}
+	return true
+}
+
+// Hermite returns the Hermite normal form of a matrix, and a matrix that
+// leads to it.
+func Hermite(a [][]api.Num) ([][]api.Num, [][]api.Num, api.Errno) {
+	m, _, e := readMatrix(a)
+	if e != api.OK {
+		return nil, nil, e
+	}
+	// In the columns of the unit matrix the rows say how they were made.
+	b := newBasis(m.withUnits())
+	h, u := make(matrix, len(m)), make(matrix, len(m))
+	for i, row := range b.rows {
+		h[i], u[i] = row[:m.columns()], row[m.columns():]
+	}
+	form, e := writeMatrix(h)
+	if e != api.OK {
+		return nil, nil, e
+	}
+	steps, e := writeMatrix(u)
+	if e != api.OK {
+		return nil, nil, e
+	}
+	return form, steps, api.OK
+}
+
+// Reduce returns a vector reduced by a matrix in Hermite normal form.
+func Reduce(h [][]api.Num, v []api.Num) ([]api.Num, api.Errno) {
+	m, vectors, e := readMatrix(h, v)
+	if e != api.OK {
+		return nil, e
+	}
+	b, ok := asBasis(m)
+	if !ok || len(v) != m.columns() {
+		return nil, api.ErrArg
+	}
+	values, ok := integers(vectors[0])
+	if !ok {
+		return nil, api.ErrForm
+	}
+	b.reduce(values, 0)
+	return writeIntegers(values)
+}

@@ -1,0 +1,53 @@
+package exact
+
+import "cracknel/api"
+
+// Smith returns the invariant factors of a matrix.
+func Smith(a [][]api.Num) ([]api.Num, api.Errno) {
+	m, _, e := readMatrix(a)
+	if e != api.OK {
+		return nil, e
+	}
+	out := make([]integer, min(len(m), m.columns()))
+	copy(out, divideChain(m.diagonal()))
+	return writeIntegers(out)
+}
+
+// diagonal returns the numbers of a diagonal matrix to which row and column
+// steps lead, without zeros. It takes normal forms of rows and of columns by
+// turns: the first pivot becomes a proper divisor of itself each time, until
+// it divides its row and stands alone; then so does the next one.
+func (m matrix) diagonal() []integer {
+	b := newBasis(m)
+	for !b.isDiagonal() {
+		b = newBasis(b.rows.transposed())
+	}
+	out := make([]integer, len(b.rows))
+	for i, column := range b.pivots {
+		out[i] = b.rows[i][column]
+	}
+	return out
+}
+
+// isDiagonal reports whether all entries but the pivots are 0.
+func (b *basis) isDiagonal() bool {
+	for i, row := range b.rows {
+		if leads(row[b.pivots[i]+1:]) < len(row)-b.pivots[i]-1 {
+			return false
+		}
+	}
+	return true
+}
+
+// divideChain replaces pairs of numbers by their greatest common divisor and
+// their least common multiple, until each number divides the next one.
+func divideChain(numbers []integer) []integer {
+	for i := range numbers {
+		for j := i + 1; j < len(numbers); j++ {
+			g := whole(numbers[i].size.divisor(numbers[j].size))
+			numbers[j] = numbers[i].dividedBy(g).times(numbers[j])
+			numbers[i] = g
+		}
+	}
+	return numbers
+}

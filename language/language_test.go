@@ -1,0 +1,236 @@
+// Package language_test checks the program's own text: the rules of its
+// language, the ways that its layers use, and the calls that they declare.
+package language_test
+
+import (
+	"bytes"
+	"go/ast"
+	"go/format"
+	"go/parser"
+	"go/token"
+	"os"
+	"path/filepath"
+	"slices"
+	"strconv"
+	"strings"
+	"testing"
+)
+
+const root = ".."
+
+// A source is a file of the program.
+type source struct {
+	path string
+	pack string // its package
+	text []byte
+	set  *token.FileSet
+	file *ast.File
+}
+
+// sources returns all Go files of the program's packages but tests.
+func sources(t *testing.T) []source {
+	t.Helper()
+	var out []source
+	for pack := range layers() {
+		paths, err := filepath.Glob(filepath.Join(root, pack, "*.go"))
+		if err != nil || len(paths) == 0 {
+			t.Fatalf("package %s: %v", pack, err)
+		}
+		for _, path := range paths {
+			if !strings.HasSuffix(path, "_test.go") {
+				out = append(out, read(t, pack, path))
+			}
+		}
+	}
+	return out
+}
+
+func read(t *testing.T, pack, path string) source {
+	t.Helper()
+	text, err := os.ReadFile(path)
+	if err != nil {
+		t.Fatal(err)
+	}
+	set := token.NewFileSet()
+	file, err := parser.ParseFile(set, path, text, parser.ParseComments)
+	if err != nil {
+		t.Fatal(err)
+	}
+	return source{path, pack, text, set, file}
+}
+
+func (s source) errorf(t *testing.T, at ast.Node, what string) {
+	t.Helper()
+	t.Errorf("%v: %s", s.set.Position(at.Pos()), what)
+}
+
+func allowedImports() []string {
+	return strings.Fields("bytes cmp container/heap errors iter maps math math/bits slices sort strconv strings sync sync/atomic unicode unicode/utf8")
+}
+
+// layers returns for each package the layers that it calls.
+func layers() map[string]string {
+	return map[string]string{
+		"api": "", "exact": "", "blend": "exact", "whole": "exact blend", "shape": "", "tile": "exact", "line": "exact",
+		"recipe": "exact", "shop": "exact blend", "mirror": "", "works": "exact blend whole shape tile line recipe shop mirror",
+	}
+}
+
+func TestImports(t *testing.T) {
+	for _, s := range sources(t) {
+		for _, spec := range s.file.Imports {
+			path, err := strconv.Unquote(spec.Path.Value)
+			if err != nil {
+				t.Fatal(err)
+			}
+			own, isOwn := strings.CutPrefix(path, "cracknel/")
+			calls, isLayer := layers()[s.pack]
+			switch {
+			case !isOwn && !slices.Contains(allowedImports(), path):
+				s.errorf(t, spec, "import of "+path)
+			case isOwn && isLayer && own != "api" && !slices.Contains(strings.Fields(calls), own):
+				s.errorf(t, spec, s.pack+" does not call "+own)
+			}
+		}
+	}
+}
+
+func TestPackages(t *testing.T) {
+	for _, s := range sources(t) {
+		if s.file.Name.Name != s.pack {
+			t.Errorf("%s is of package %s", s.path, s.file.Name.Name)
+		}
+	}
+}
+
+func TestNoOtherFiles(t *testing.T) {
+	text, err := os.ReadFile(filepath.Join(root, "go.mod"))
+	if err != nil || !strings.HasPrefix(string(text), "module cracknel\n") || strings.Contains(string(text), "require") {
+		t.Errorf("go.mod: %q, %v", text, err)
+	}
+	for pack := range layers() {
+		entries, err := os.ReadDir(filepath.Join(root, pack))
+		if err != nil {
+			t.Fatal(err)
+		}
+		for _, entry := range entries {
+			if !strings.HasSuffix(entry.Name(), ".go") {
+				t.Errorf("%s/%s is no file of the program", pack, entry.Name())
+			}
+		}
+	}
+}
+
+func TestLayout(t *testing.T) {
+	for _, s := range sources(t) {
+		want, err := format.Source(s.text)
+		if err != nil || !bytes.Equal(want, s.text) {
+			t.Errorf("%s is not laid out by gofmt", s.path)
+		}
+	}
+}
+
+func TestNoDirectives(t *testing.T) {
+	for _, s := range sources(t) {
+		for _, group := range s.file.Comments {
+			for _, c := range group.List {
+				if strings.HasPrefix(c.Text, "//go:") || strings.HasPrefix(c.Text, "// +build") {
+					s.errorf(t, c, c.Text)
+				}
+			}
+		}
+		name := strings.TrimSuffix(filepath.Base(s.path), ".go")
+		if strings.Contains(name, "_") {
+			t.Errorf("%s: a name that may be a build tag", s.path)
+		}
+	}
+}
+
+func TestFunctions(t *testing.T) {
+	for _, s := range sources(t) {
+		ast.Inspect(s.file, func(n ast.Node) bool {
+			switch x := n.(type) {
+			case *ast.FuncDecl:
+				if first, last := s.set.Position(x.Pos()).Line, s.set.Position(x.End()).Line; last-first >= 60 {
+					s.errorf(t, x, x.Name.Name+" is too long")
+				}
+				if x.Recv == nil && x.Name.Name == "init" {
+					s.errorf(t, x, "start-up code")
+				}
+			case *ast.CallExpr:
+				if f, ok := x.Fun.(*ast.Ident); ok && (f.Name == "print" || f.Name == "println") {
+					s.errorf(t, x, "printing")
+				}
+			}
+			return true
+		})
+	}
+}
+
+// isWrittenOut reports whether a value consists of literals, or is an error
+// that errors.New creates.
+func isWrittenOut(e ast.Expr) bool {
+	switch x := e.(type) {
+	case *ast.BasicLit, *ast.Ident, *ast.SelectorExpr:
+		return true
+	case *ast.UnaryExpr:
+		return x.Op != token.AND && isWrittenOut(x.X)
+	case *ast.KeyValueExpr:
+		return isWrittenOut(x.Value)
+	case *ast.CallExpr:
+		f, ok := x.Fun.(*ast.SelectorExpr)
+		return ok && f.Sel.Name == "New" && len(x.Args) == 1 && isWrittenOut(x.Args[0])
+	case *ast.CompositeLit:
+		if _, isMap := x.Type.(*ast.MapType); isMap {
+			return false
+		}
+		return !slices.ContainsFunc(x.Elts, func(e ast.Expr) bool { return !isWrittenOut(e) })
+	}
+	return false
+}
+
+func TestPackageLevel(t *testing.T) {
+	for _, s := range sources(t) {
+		for _, d := range s.file.Decls {
+			g, ok := d.(*ast.GenDecl)
+			if !ok || g.Tok != token.VAR {
+				continue
+			}
+			for _, spec := range g.Specs {
+				v := spec.(*ast.ValueSpec)
+				if len(v.Values) != len(v.Names) || slices.ContainsFunc(v.Values, func(e ast.Expr) bool { return !isWrittenOut(e) }) {
+					s.errorf(t, v, "a variable at package level")
+				}
+			}
+		}
+	}
+}
+
+// Layer 1 reads Nums by a function that takes any number of them, and passes
+// operations as function literals.
+func TestWaysOfExact(t *testing.T) {
+	variadic, closure := false, false
+	for _, s := range sources(t) {
+		if s.pack != "exact" {
+			continue
+		}
+		ast.Inspect(s.file, func(n ast.Node) bool {
+			switch x := n.(type) {
+			case *ast.Ellipsis:
+				if of, ok := x.Elt.(*ast.SelectorExpr); ok && of.Sel.Name == "Num" {
+					variadic = true
+				}
+			case *ast.CallExpr:
+				for _, arg := range x.Args {
+					if _, ok := arg.(*ast.FuncLit); ok {
+						closure = true
+					}
+				}
+			}
+			return true
+		})
+	}
+	if !variadic || !closure {
+		t.Errorf("exact: variadic %t, closure %t", variadic, closure)
+	}
+}
