@@ -1,6 +1,9 @@
 package exact
 
-import "cracknel/api"
+import (
+	"cracknel/api"
+	"cracknel/number"
+)
 
 // smallSeparator is how far Refuse looks for a small common denominator.
 const smallSeparator = 1000
@@ -8,11 +11,11 @@ const smallSeparator = 1000
 // An equations value is a·x = b, to be solved by integers x.
 type equations struct {
 	a matrix
-	b []integer
+	b []number.Integer
 }
 
 // readEquations reads equations and further vectors.
-func readEquations(a [][]api.Num, b []api.Num, more ...[]api.Num) (equations, [][]ratio, api.Errno) {
+func readEquations(a [][]api.Num, b []api.Num, more ...[]api.Num) (equations, [][]number.Ratio, api.Errno) {
 	m, vectors, e := readMatrix(a, append([][]api.Num{b}, more...)...)
 	if e != api.OK {
 		return equations{}, nil, e
@@ -50,7 +53,7 @@ func Solve(a [][]api.Num, b []api.Num) ([]api.Num, [][]api.Num, api.Errno) {
 
 // solve returns the reduced solution and the basis of the solutions of
 // a·x = 0, or false if there is no solution.
-func (q equations) solve() ([]integer, matrix, bool) {
+func (q equations) solve() ([]number.Integer, matrix, bool) {
 	rows := len(q.a)
 	// A row of this basis is a combination of columns of a and, behind it,
 	// the factors that make it; where the former is zero, these are a solution
@@ -63,7 +66,7 @@ func (q equations) solve() ([]integer, matrix, bool) {
 			kernel.pivots = append(kernel.pivots, column-rows)
 		}
 	}
-	v := make([]integer, rows+q.a.columns())
+	v := make([]number.Integer, rows+q.a.columns())
 	copy(v, q.b)
 	all.reduce(v, 0)
 	if leads(v) < rows {
@@ -71,7 +74,7 @@ func (q equations) solve() ([]integer, matrix, bool) {
 	}
 	x := v[rows:]
 	for i := range x {
-		x[i] = x[i].negated()
+		x[i] = x[i].Negated()
 	}
 	kernel.reduce(x, 0)
 	return x, kernel.rows, true
@@ -92,9 +95,9 @@ func Refuse(a [][]api.Num, b []api.Num) ([]api.Num, api.Errno) {
 
 // refuse returns multipliers, each 0 or more and less than 1, or false if
 // there is a solution.
-func (q equations) refuse() ([]ratio, bool) {
+func (q equations) refuse() ([]number.Ratio, bool) {
 	columns := newBasis(q.a.transposed())
-	rest := append([]integer(nil), q.b...)
+	rest := append([]number.Integer(nil), q.b...)
 	columns.reduce(rest, 0)
 	at := leads(rest)
 	if at == len(rest) {
@@ -103,53 +106,57 @@ func (q equations) refuse() ([]ratio, bool) {
 	// The product of w with rest is scale·rest[at]; with a row of the basis it
 	// is 0 or, for a row whose pivot is in that column, scale·pivot, of which
 	// scale·rest[at] is no multiple.
-	w, scale := scaled(columns.orthogonal(len(rest), at))
-	var all natural
+	w, scale := number.Scaled(columns.orthogonal(len(rest), at))
+	var all number.Integer
 	for k, column := range columns.pivots {
 		if column == at {
-			all = scale.times(columns.rows[k][at].size)
+			all = scale.Times(columns.rows[k][at])
 		}
 	}
-	modulus := separator(all, scale.times(rest[at].size))
-	y := make([]ratio, len(w))
+	modulus := separator(all, scale.Times(rest[at]))
+	y := make([]number.Ratio, len(w))
 	for i, x := range w {
-		_, part := x.over(whole(modulus))
-		y[i] = newRatio(part, modulus)
+		_, part := x.Over(modulus)
+		y[i] = number.New(part, modulus)
 	}
 	return y, true
 }
 
 // orthogonal returns a vector of that width whose product with every row whose
 // pivot is before a column is 0, with 1 in that column and nothing behind it.
-func (b *basis) orthogonal(width, at int) []ratio {
-	y := make([]ratio, width)
-	for i := range y {
-		y[i] = fromInteger(integer{})
-	}
-	y[at] = fromInteger(fromInt(1))
+func (b *basis) orthogonal(width, at int) []number.Ratio {
+	y := make([]number.Ratio, width)
+	y[at] = number.Whole(number.Of(1))
 	for k := len(b.pivots) - 1; k >= 0; k-- {
 		column := b.pivots[k]
 		if column >= at {
 			continue
 		}
-		sum := fromInteger(integer{})
+		var sum number.Ratio
 		for j := column + 1; j <= at; j++ {
-			sum = sum.plus(y[j].times(fromInteger(b.rows[k][j])))
+			sum = sum.Plus(y[j].Times(number.Whole(b.rows[k][j])))
 		}
-		y[column] = sum.over(fromInteger(b.rows[k][column])).negated()
+		y[column] = sum.Over(number.Whole(b.rows[k][column])).Negated()
 	}
 	return y
 }
 
 // separator returns a number that divides a, but not b, where a is 0 or does
 // not divide b: a small one if there is one, so that multipliers stay short.
-func separator(a, b natural) natural {
-	for w := uint64(2); len(a) == 0 || w <= smallSeparator; w++ {
-		if a.rest(w) == 0 && b.rest(w) != 0 {
-			return word(w)
+func separator(a, b number.Integer) number.Integer {
+	for w := 2; a.IsZero() || w <= smallSeparator; w++ {
+		small := number.Of(w)
+		if divides(small, a) && !divides(small, b) {
+			return small
 		}
 	}
 	return a
+}
+
+// divides reports whether a number that is not 0 divides another one.
+func divides(a, b number.Integer) bool {
+	_, rest := b.Over(a)
+	return rest.IsZero()
 }
 
 // Refutes reports whether multipliers prove that there is no integer solution.
@@ -165,11 +172,10 @@ func Refutes(a [][]api.Num, b, y []api.Num) (bool, api.Errno) {
 }
 
 // refutedBy reports whether y·a consists of integers and y·b is not one.
-func (q equations) refutedBy(y []ratio) bool {
-	multipliers, common := scaled(y)
-	isInteger := func(v []integer) bool {
-		_, rest := dot(multipliers, v).over(whole(common))
-		return rest.isZero()
+func (q equations) refutedBy(y []number.Ratio) bool {
+	multipliers, common := number.Scaled(y)
+	isInteger := func(v []number.Integer) bool {
+		return divides(common, number.Dot(multipliers, v))
 	}
 	for _, column := range q.a.transposed() {
 		if !isInteger(column) {

@@ -3,10 +3,10 @@
 // certificates. See shared/doc/01-exact.md.
 package exact
 
-import "cracknel/api"
-
-// greatestInt is the greatest absolute value that Int returns.
-const greatestInt = 1 << 62
+import (
+	"cracknel/api"
+	"cracknel/number"
+)
 
 // Check returns ErrForm unless a Num is valid.
 func Check(x api.Num) api.Errno {
@@ -19,31 +19,31 @@ func Make(num, den int) (api.Num, api.Errno) {
 	if den == 0 {
 		return "", api.ErrZero
 	}
-	return write(fromInteger(fromInt(num)).over(fromInteger(fromInt(den))))
+	return write(number.Whole(number.Of(num)).Over(number.Whole(number.Of(den))))
 }
 
 // Add returns a sum.
 func Add(a, b api.Num) (api.Num, api.Errno) {
-	return apply(func(x []ratio) (ratio, api.Errno) { return x[0].plus(x[1]), api.OK }, a, b)
+	return apply(func(x []number.Ratio) (number.Ratio, api.Errno) { return x[0].Plus(x[1]), api.OK }, a, b)
 }
 
 // Sub returns a difference.
 func Sub(a, b api.Num) (api.Num, api.Errno) {
-	return apply(func(x []ratio) (ratio, api.Errno) { return x[0].minus(x[1]), api.OK }, a, b)
+	return apply(func(x []number.Ratio) (number.Ratio, api.Errno) { return x[0].Minus(x[1]), api.OK }, a, b)
 }
 
 // Mul returns a product.
 func Mul(a, b api.Num) (api.Num, api.Errno) {
-	return apply(func(x []ratio) (ratio, api.Errno) { return x[0].times(x[1]), api.OK }, a, b)
+	return apply(func(x []number.Ratio) (number.Ratio, api.Errno) { return x[0].Times(x[1]), api.OK }, a, b)
 }
 
 // Div returns a quotient.
 func Div(a, b api.Num) (api.Num, api.Errno) {
-	return apply(func(x []ratio) (ratio, api.Errno) {
-		if x[1].isZero() {
-			return ratio{}, api.ErrZero
+	return apply(func(x []number.Ratio) (number.Ratio, api.Errno) {
+		if x[1].IsZero() {
+			return number.Ratio{}, api.ErrZero
 		}
-		return x[0].over(x[1]), api.OK
+		return x[0].Over(x[1]), api.OK
 	}, a, b)
 }
 
@@ -53,32 +53,29 @@ func Cmp(a, b api.Num) (int, api.Errno) {
 	if e != api.OK {
 		return 0, e
 	}
-	return x[0].compare(x[1]), api.OK
+	return x[0].Compare(x[1]), api.OK
 }
 
 // Floor returns the greatest integer that is not above a Num.
 func Floor(x api.Num) (api.Num, api.Errno) {
-	return apply(func(x []ratio) (ratio, api.Errno) { return fromInteger(x[0].floor()), api.OK }, x)
+	return apply(func(x []number.Ratio) (number.Ratio, api.Errno) { return number.Whole(x[0].Floor()), api.OK }, x)
 }
 
 // Int returns the value of an integer.
 func Int(x api.Num) (int, api.Errno) {
 	values, e := read(x)
-	if e != api.OK || !values[0].isInteger() {
+	if e != api.OK || !values[0].IsInteger() {
 		return 0, api.ErrForm
 	}
-	n := values[0].num
-	if n.size.compare(word(greatestInt)) > 0 {
+	n, ok := values[0].Num().Int()
+	if !ok {
 		return 0, api.ErrRange
 	}
-	if n.isZero() {
-		return 0, api.OK
-	}
-	return n.sign() * int(n.size[0]), api.OK
+	return n, api.OK
 }
 
 // apply reads Nums, and writes what an operation makes of their values.
-func apply(operation func([]ratio) (ratio, api.Errno), nums ...api.Num) (api.Num, api.Errno) {
+func apply(operation func([]number.Ratio) (number.Ratio, api.Errno), nums ...api.Num) (api.Num, api.Errno) {
 	x, e := read(nums...)
 	if e != api.OK {
 		return "", e
@@ -90,11 +87,20 @@ func apply(operation func([]ratio) (ratio, api.Errno), nums ...api.Num) (api.Num
 	return write(value)
 }
 
+// write returns the Num of a ratio: ErrRange if it has too many digits.
+func write(x number.Ratio) (api.Num, api.Errno) {
+	text, ok := x.Text()
+	if !ok {
+		return "", api.ErrRange
+	}
+	return text, api.OK
+}
+
 // read reads any number of Nums: ErrForm if one of them is not valid.
-func read(nums ...api.Num) ([]ratio, api.Errno) {
-	values := make([]ratio, 0, len(nums))
+func read(nums ...api.Num) ([]number.Ratio, api.Errno) {
+	values := make([]number.Ratio, 0, len(nums))
 	for _, x := range nums {
-		value, ok := parse(x)
+		value, ok := number.Parse(x)
 		if !ok {
 			return nil, api.ErrForm
 		}

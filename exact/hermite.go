@@ -1,6 +1,9 @@
 package exact
 
-import "cracknel/api"
+import (
+	"cracknel/api"
+	"cracknel/number"
+)
 
 // A basis is a matrix in Hermite normal form without rows that are zero: the
 // one basis of this form of what its rows generate.
@@ -15,15 +18,15 @@ type basis struct {
 func newBasis(rows matrix) basis {
 	var b basis
 	for _, row := range rows {
-		b.insert(append([]integer(nil), row...))
+		b.insert(append([]number.Integer(nil), row...))
 	}
 	return b
 }
 
 // leads returns the number of zeros with which a vector begins.
-func leads(v []integer) int {
+func leads(v []number.Integer) int {
 	for i, x := range v {
-		if !x.isZero() {
+		if !x.IsZero() {
 			return i
 		}
 	}
@@ -31,7 +34,7 @@ func leads(v []integer) int {
 }
 
 // insert adds a vector, which it uses up, to what the basis generates.
-func (b *basis) insert(v []integer) {
+func (b *basis) insert(v []number.Integer) {
 	at := 0
 	for at < len(b.rows) && b.pivots[at] <= leads(v) {
 		if b.pivots[at] == leads(v) {
@@ -47,33 +50,29 @@ func (b *basis) insert(v []integer) {
 
 // meet makes the pivot of a row divide v's entry in its column, by steps that
 // keep what the row and v generate, and returns v without that entry.
-func (b *basis) meet(k int, v []integer) []integer {
+func (b *basis) meet(k int, v []number.Integer) []number.Integer {
 	row, column := b.rows[k], b.pivots[k]
-	quotient, rest := v[column].over(row[column])
-	if rest.isZero() {
+	quotient, rest := v[column].Over(row[column])
+	if rest.IsZero() {
 		subtract(v, quotient, row)
 		b.reduce(v, k+1)
 		return v
 	}
-	g, s, t := factors(row[column].size, v[column].size)
-	if v[column].negative {
-		t = t.negated()
-	}
-	other := v[column].dividedBy(whole(g))
-	pivot := row[column].dividedBy(whole(g))
+	g, s, t := number.Factors(row[column], v[column])
+	other, pivot := v[column].DividedBy(g), row[column].DividedBy(g)
 	b.rows[k] = mix(s, row, t, v)
 	b.reduce(b.rows[k], k+1)
-	v = mix(pivot, v, other.negated(), row)
+	v = mix(pivot, v, other.Negated(), row)
 	b.reduce(v, k+1)
 	return v
 }
 
 // place puts v, whose first entry that is not 0 is in that column, before the
 // row with the number at.
-func (b *basis) place(at, column int, v []integer) {
-	if v[column].negative {
+func (b *basis) place(at, column int, v []number.Integer) {
+	if v[column].Sign() < 0 {
 		for j := range v {
-			v[j] = v[j].negated()
+			v[j] = v[j].Negated()
 		}
 	}
 	b.rows = append(b.rows, nil)
@@ -92,31 +91,31 @@ func (b *basis) tidy() {
 }
 
 // reduce reduces v by the rows from a number on.
-func (b *basis) reduce(v []integer, from int) {
+func (b *basis) reduce(v []number.Integer, from int) {
 	for k := from; k < len(b.rows); k++ {
 		column := b.pivots[k]
-		quotient, _ := v[column].over(b.rows[k][column])
+		quotient, _ := v[column].Over(b.rows[k][column])
 		subtract(v, quotient, b.rows[k])
 	}
 }
 
 // subtract subtracts a multiple of a row from v.
-func subtract(v []integer, factor integer, row []integer) {
-	if factor.isZero() {
+func subtract(v []number.Integer, factor number.Integer, row []number.Integer) {
+	if factor.IsZero() {
 		return
 	}
 	for j, x := range row {
-		if !x.isZero() {
-			v[j] = v[j].minus(factor.times(x))
+		if !x.IsZero() {
+			v[j] = v[j].Minus(factor.Times(x))
 		}
 	}
 }
 
 // mix returns s·a + t·b.
-func mix(s integer, a []integer, t integer, b []integer) []integer {
-	out := make([]integer, len(a))
+func mix(s number.Integer, a []number.Integer, t number.Integer, b []number.Integer) []number.Integer {
+	out := make([]number.Integer, len(a))
 	for j := range out {
-		out[j] = s.times(a[j]).plus(t.times(b[j]))
+		out[j] = s.Times(a[j]).Plus(t.Times(b[j]))
 	}
 	return out
 }
@@ -131,7 +130,7 @@ func asBasis(m matrix) (basis, bool) {
 			continue
 		}
 		afterZero := n < i
-		if afterZero || n > 0 && column <= b.pivots[n-1] || row[column].negative {
+		if afterZero || n > 0 && column <= b.pivots[n-1] || row[column].Sign() < 0 {
 			return basis{}, false
 		}
 		b.rows = append(b.rows, row)
@@ -145,7 +144,7 @@ func asBasis(m matrix) (basis, bool) {
 func (b *basis) isReduced() bool {
 	for k, column := range b.pivots {
 		for _, row := range b.rows[:k] {
-			if row[column].negative || row[column].compare(b.rows[k][column]) >= 0 {
+			if row[column].Sign() < 0 || row[column].Compare(b.rows[k][column]) >= 0 {
 				return false
 			}
 		}

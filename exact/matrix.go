@@ -1,13 +1,16 @@
 package exact
 
-import "cracknel/api"
+import (
+	"cracknel/api"
+	"cracknel/number"
+)
 
 // A matrix has rows of the same length.
-type matrix [][]integer
+type matrix [][]number.Integer
 
 // readMatrix reads a matrix and vectors: ErrForm of any Num of them comes
 // before ErrArg of the matrix.
-func readMatrix(a [][]api.Num, vectors ...[]api.Num) (matrix, [][]ratio, api.Errno) {
+func readMatrix(a [][]api.Num, vectors ...[]api.Num) (matrix, [][]number.Ratio, api.Errno) {
 	rows, e := readRows(a)
 	if e != api.OK {
 		return nil, nil, e
@@ -23,8 +26,8 @@ func readMatrix(a [][]api.Num, vectors ...[]api.Num) (matrix, [][]ratio, api.Err
 	return m, values, api.OK
 }
 
-func readRows(rows [][]api.Num) ([][]ratio, api.Errno) {
-	out := make([][]ratio, 0, len(rows))
+func readRows(rows [][]api.Num) ([][]number.Ratio, api.Errno) {
+	out := make([][]number.Ratio, 0, len(rows))
 	for _, row := range rows {
 		values, e := read(row...)
 		if e != api.OK {
@@ -36,7 +39,7 @@ func readRows(rows [][]api.Num) ([][]ratio, api.Errno) {
 }
 
 // newMatrix returns the matrix of rows, or false if they are not a valid one.
-func newMatrix(rows [][]ratio) (matrix, bool) {
+func newMatrix(rows [][]number.Ratio) (matrix, bool) {
 	if !isSide(len(rows)) || !isSide(len(rows[0])) {
 		return nil, false
 	}
@@ -54,13 +57,13 @@ func newMatrix(rows [][]ratio) (matrix, bool) {
 func isSide(n int) bool { return 1 <= n && n <= api.MaxRows }
 
 // integers returns the values of a vector, or false if one is no integer.
-func integers(v []ratio) ([]integer, bool) {
-	out := make([]integer, len(v))
+func integers(v []number.Ratio) ([]number.Integer, bool) {
+	out := make([]number.Integer, len(v))
 	for i, x := range v {
-		if !x.isInteger() {
+		if !x.IsInteger() {
 			return nil, false
 		}
-		out[i] = x.num
+		out[i] = x.Num()
 	}
 	return out, true
 }
@@ -70,7 +73,7 @@ func (m matrix) columns() int { return len(m[0]) }
 func (m matrix) transposed() matrix {
 	out := make(matrix, m.columns())
 	for j := range out {
-		out[j] = make([]integer, len(m))
+		out[j] = make([]number.Integer, len(m))
 		for i := range m {
 			out[j][i] = m[i][j]
 		}
@@ -82,35 +85,11 @@ func (m matrix) transposed() matrix {
 func (m matrix) withUnits() matrix {
 	out := make(matrix, len(m))
 	for i, row := range m {
-		out[i] = make([]integer, len(row)+len(m))
+		out[i] = make([]number.Integer, len(row)+len(m))
 		copy(out[i], row)
-		out[i][len(row)+i] = fromInt(1)
+		out[i][len(row)+i] = number.Of(1)
 	}
 	return out
-}
-
-// dot returns the sum of the products of the elements.
-func dot(a, b []integer) integer {
-	var out integer
-	for i, x := range a {
-		out = out.plus(x.times(b[i]))
-	}
-	return out
-}
-
-// scaled returns integers, and a number by which all of them are to be
-// divided to get the vector.
-func scaled(v []ratio) ([]integer, natural) {
-	common := word(1)
-	for _, x := range v {
-		part := newRatio(whole(x.den), common)
-		common = part.num.size.times(common)
-	}
-	out := make([]integer, len(v))
-	for i, x := range v {
-		out[i] = x.num.times(whole(common).dividedBy(whole(x.den)))
-	}
-	return out, common
 }
 
 // writeEach writes the elements one by one, until one has too many digits.
@@ -126,10 +105,10 @@ func writeEach[T, U any](values []T, write func(T) (U, api.Errno)) ([]U, api.Err
 	return out, api.OK
 }
 
-func writeVector(v []ratio) ([]api.Num, api.Errno) { return writeEach(v, write) }
+func writeVector(v []number.Ratio) ([]api.Num, api.Errno) { return writeEach(v, write) }
 
-func writeIntegers(v []integer) ([]api.Num, api.Errno) {
-	return writeEach(v, func(x integer) (api.Num, api.Errno) { return write(fromInteger(x)) })
+func writeIntegers(v []number.Integer) ([]api.Num, api.Errno) {
+	return writeEach(v, func(x number.Integer) (api.Num, api.Errno) { return write(number.Whole(x)) })
 }
 
 func writeMatrix(m matrix) ([][]api.Num, api.Errno) { return writeEach(m, writeIntegers) }
@@ -143,10 +122,10 @@ func Times(a [][]api.Num, x []api.Num) ([]api.Num, api.Errno) {
 	if len(x) != m.columns() {
 		return nil, api.ErrArg
 	}
-	values, common := scaled(vectors[0])
-	out := make([]ratio, len(m))
+	values, common := number.Scaled(vectors[0])
+	out := make([]number.Ratio, len(m))
 	for i, row := range m {
-		out[i] = newRatio(dot(row, values), common)
+		out[i] = number.New(number.Dot(row, values), common)
 	}
 	return writeVector(out)
 }
@@ -160,22 +139,22 @@ func Det(a [][]api.Num) (api.Num, api.Errno) {
 	if len(m) != m.columns() {
 		return "", api.ErrArg
 	}
-	return write(fromInteger(m.determinant()))
+	return write(number.Whole(m.determinant()))
 }
 
 // determinant eliminates without fractions (Bareiss) and uses up the matrix:
 // every entry on the way is a determinant of a part of it, which is why the
 // divisions leave no remainder.
-func (m matrix) determinant() integer {
+func (m matrix) determinant() number.Integer {
 	negative := false
-	last := fromInt(1)
+	last := number.Of(1)
 	for k := range m {
 		pivot := k
-		for pivot < len(m) && m[pivot][k].isZero() {
+		for pivot < len(m) && m[pivot][k].IsZero() {
 			pivot++
 		}
 		if pivot == len(m) {
-			return integer{}
+			return number.Integer{}
 		}
 		if pivot != k {
 			m[k], m[pivot] = m[pivot], m[k]
@@ -183,14 +162,13 @@ func (m matrix) determinant() integer {
 		}
 		for i := k + 1; i < len(m); i++ {
 			for j := k + 1; j < len(m); j++ {
-				cross := m[k][k].times(m[i][j]).minus(m[i][k].times(m[k][j]))
-				m[i][j] = cross.dividedBy(last)
+				m[i][j] = number.Cross(m[k][k], m[i][j], m[i][k], m[k][j], last)
 			}
 		}
 		last = m[k][k]
 	}
 	if negative {
-		return last.negated()
+		return last.Negated()
 	}
 	return last
 }

@@ -1,6 +1,9 @@
 package exact
 
-import "cracknel/api"
+import (
+	"cracknel/api"
+	"cracknel/number"
+)
 
 // Smith returns the invariant factors of a matrix.
 func Smith(a [][]api.Num) ([]api.Num, api.Errno) {
@@ -8,7 +11,7 @@ func Smith(a [][]api.Num) ([]api.Num, api.Errno) {
 	if e != api.OK {
 		return nil, e
 	}
-	out := make([]integer, min(len(m), m.columns()))
+	out := make([]number.Integer, min(len(m), m.columns()))
 	copy(out, divideChain(m.diagonal()))
 	return writeIntegers(out)
 }
@@ -17,12 +20,12 @@ func Smith(a [][]api.Num) ([]api.Num, api.Errno) {
 // steps lead, without zeros. It takes normal forms of rows and of columns by
 // turns: the first pivot becomes a proper divisor of itself each time, until
 // it divides its row and stands alone; then so does the next one.
-func (m matrix) diagonal() []integer {
+func (m matrix) diagonal() []number.Integer {
 	b := newBasis(m)
 	for !b.isDiagonal() {
 		b = newBasis(b.rows.transposed())
 	}
-	out := make([]integer, len(b.rows))
+	out := make([]number.Integer, len(b.rows))
 	for i, column := range b.pivots {
 		out[i] = b.rows[i][column]
 	}
@@ -41,11 +44,11 @@ func (b *basis) isDiagonal() bool {
 
 // divideChain replaces pairs of numbers by their greatest common divisor and
 // their least common multiple, until each number divides the next one.
-func divideChain(numbers []integer) []integer {
+func divideChain(numbers []number.Integer) []number.Integer {
 	for i := range numbers {
 		for j := i + 1; j < len(numbers); j++ {
-			g := whole(numbers[i].size.divisor(numbers[j].size))
-			numbers[j] = numbers[i].dividedBy(g).times(numbers[j])
+			g := number.Divisor(numbers[i], numbers[j])
+			numbers[j] = numbers[i].DividedBy(g).Times(numbers[j])
 			numbers[i] = g
 		}
 	}

@@ -68,10 +68,11 @@ func allowedImports() []string {
 	return strings.Fields("bytes cmp container/heap errors iter maps math math/bits slices sort strconv strings sync sync/atomic unicode unicode/utf8")
 }
 
-// layers returns for each package the layers that it calls.
+// layers returns for each package the layers that it calls. (Package number is
+// no layer: it is arithmetic that any of them may call.)
 func layers() map[string]string {
 	return map[string]string{
-		"api": "", "exact": "", "blend": "exact", "whole": "exact blend", "shape": "", "tile": "exact", "line": "exact",
+		"api": "", "number": "", "exact": "", "blend": "exact", "whole": "exact blend", "shape": "", "tile": "exact", "line": "exact",
 		"recipe": "exact", "shop": "exact blend", "mirror": "", "works": "exact blend whole shape tile line recipe shop mirror",
 	}
 }
@@ -88,7 +89,7 @@ func TestImports(t *testing.T) {
 			switch {
 			case !isOwn && !slices.Contains(allowedImports(), path):
 				s.errorf(t, spec, "import of "+path)
-			case isOwn && isLayer && own != "api" && !slices.Contains(strings.Fields(calls), own):
+			case isOwn && isLayer && own != "api" && own != "number" && !slices.Contains(strings.Fields(calls), own):
 				s.errorf(t, spec, s.pack+" does not call "+own)
 			}
 		}
@@ -206,31 +207,64 @@ func TestPackageLevel(t *testing.T) {
 	}
 }
 
+// hasWay reports whether a package has a node of its program's text that is as
+// wanted.
+func hasWay(t *testing.T, pack string, isWanted func(n ast.Node) bool) bool {
+	t.Helper()
+	found := false
+	for _, s := range sources(t) {
+		if s.pack == pack {
+			ast.Inspect(s.file, func(n ast.Node) bool {
+				found = found || n != nil && isWanted(n)
+				return !found
+			})
+		}
+	}
+	return found
+}
+
 // Layer 1 reads Nums by a function that takes any number of them, and passes
 // operations as function literals.
 func TestWaysOfExact(t *testing.T) {
-	variadic, closure := false, false
-	for _, s := range sources(t) {
-		if s.pack != "exact" {
-			continue
+	isVariadic := func(n ast.Node) bool {
+		x, ok := n.(*ast.Ellipsis)
+		if !ok {
+			return false
 		}
-		ast.Inspect(s.file, func(n ast.Node) bool {
-			switch x := n.(type) {
-			case *ast.Ellipsis:
-				if of, ok := x.Elt.(*ast.SelectorExpr); ok && of.Sel.Name == "Num" {
-					variadic = true
-				}
-			case *ast.CallExpr:
-				for _, arg := range x.Args {
-					if _, ok := arg.(*ast.FuncLit); ok {
-						closure = true
-					}
-				}
-			}
-			return true
+		of, ok := x.Elt.(*ast.SelectorExpr)
+		return ok && of.Sel.Name == "Num"
+	}
+	isClosure := func(n ast.Node) bool {
+		x, ok := n.(*ast.CallExpr)
+		return ok && slices.ContainsFunc(x.Args, func(arg ast.Expr) bool {
+			_, ok := arg.(*ast.FuncLit)
+			return ok
 		})
 	}
-	if !variadic || !closure {
-		t.Errorf("exact: variadic %t, closure %t", variadic, closure)
+	if !hasWay(t, "exact", isVariadic) || !hasWay(t, "exact", isClosure) {
+		t.Error("exact has no variadic function, or no function literal as an argument")
+	}
+}
+
+// Layer 2 yields corners by a function that is ranged over, and copies rows.
+func TestWaysOfBlend(t *testing.T) {
+	isYielding := func(n ast.Node) bool {
+		x, ok := n.(*ast.FuncLit)
+		if !ok || len(x.Type.Params.List) != 1 || x.Type.Results != nil {
+			return false
+		}
+		_, ok = x.Type.Params.List[0].Type.(*ast.FuncType)
+		return ok
+	}
+	isCopy := func(n ast.Node) bool {
+		x, ok := n.(*ast.CallExpr)
+		if !ok {
+			return false
+		}
+		f, ok := x.Fun.(*ast.Ident)
+		return ok && f.Name == "copy" && len(x.Args) == 2
+	}
+	if !hasWay(t, "blend", isYielding) || !hasWay(t, "blend", isCopy) {
+		t.Error("blend has no function to be ranged over, or copies nothing")
 	}
 }

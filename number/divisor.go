@@ -1,4 +1,4 @@
-package exact
+package number
 
 import "math/bits"
 
@@ -101,12 +101,15 @@ func (a natural) divisor(b natural) natural {
 	if len(b) == 0 {
 		return a
 	}
-	_, rest := a.over(b)
-	if len(rest) == 0 {
-		return b
+	return word(wordDivisor(b[0], a.rest(b[0])))
+}
+
+// wordDivisor returns the greatest common divisor of two words.
+func wordDivisor(x, y uint64) uint64 {
+	for y != 0 {
+		x, y = y, x%y
 	}
-	_, g := wholeTurn(b[0], rest[0])
-	return word(g)
+	return x
 }
 
 // descend does steps of Euclid's algorithm until the lesser number has one
@@ -130,7 +133,7 @@ func descend(a, b natural) (natural, natural) {
 
 // factors returns the greatest common divisor g of two naturals that are not
 // 0, and numbers s and t with s·a + t·b = g.
-func factors(a, b natural) (natural, integer, integer) {
+func factors(a, b natural) (natural, Integer, Integer) {
 	if a.compare(b) < 0 {
 		g, t, s := factors(b, a)
 		return g, s, t
@@ -156,6 +159,6 @@ func factors(a, b natural) (natural, integer, integer) {
 		}
 	}
 	first := newInteger(odd, s)
-	second := whole(x).minus(first.times(whole(a))).dividedBy(whole(b))
-	return x, first, second
+	rest := newInteger(false, x).Minus(first.Times(newInteger(false, a)))
+	return x, first, rest.DividedBy(newInteger(false, b))
 }

@@ -1,4 +1,4 @@
-package exact
+package number
 
 import (
 	"math/big"
@@ -6,8 +6,8 @@ import (
 	"testing"
 )
 
-// These tests compare the arithmetic below the exported functions with that of
-// math/big, mostly for words that make carries, borrows and wrong guesses.
+// The tests of this package compare its arithmetic with that of math/big, mostly
+// for words that make carries, borrows and wrong guesses.
 
 func toBig(a natural) *big.Int {
 	out := new(big.Int)
@@ -18,12 +18,11 @@ func toBig(a natural) *big.Int {
 	return out
 }
 
-func toBigInteger(a integer) *big.Int {
-	out := toBig(a.size)
-	if a.negative {
-		out.Neg(out)
+func toBigInteger(a Integer) *big.Int {
+	if a.isSmall() {
+		return big.NewInt(a.small)
 	}
-	return out
+	return new(big.Int).Mul(toBig(a.size), big.NewInt(a.small))
 }
 
 func isTrimmed(a natural) bool { return len(a) == 0 || a[len(a)-1] != 0 }
@@ -139,30 +138,6 @@ func TestWrongGuess(t *testing.T) {
 			{0, 0, 0, top, top - 1}, {^uint64(0), ^uint64(0), ^uint64(0), ^uint64(0), top - 1},
 		} {
 			checkNaturals(t, a, b)
-		}
-	}
-}
-
-func TestIntegersFloor(t *testing.T) {
-	if fromInt(0).negative || fromInt(0).negated().negative || fromInt(3).minus(fromInt(3)).negative {
-		t.Error("0 is negative")
-	}
-	for a := -20; a <= 20; a++ {
-		for b := -6; b <= 6; b++ {
-			if b == 0 {
-				continue
-			}
-			q, rest := fromInt(a).over(fromInt(b))
-			want := a / b
-			if a%b != 0 && (a < 0) != (b < 0) {
-				want--
-			}
-			if q.compare(fromInt(want)) != 0 || rest.compare(fromInt(a-b*want)) != 0 {
-				t.Errorf("%d over %d = %v, %v", a, b, toBigInteger(q), toBigInteger(rest))
-			}
-			if c := fromInt(a).compare(fromInt(b)); c < -1 || c > 1 || (c < 0) != (a < b) || (c > 0) != (a > b) {
-				t.Errorf("%d compared with %d: %d", a, b, c)
-			}
 		}
 	}
 }

@@ -1,4 +1,4 @@
-package exact
+package number
 
 import (
 	"strconv"
@@ -42,6 +42,22 @@ func parseWord(s string) (uint64, bool) {
 		w = 10*w + uint64(s[i]-'0')
 	}
 	return w, true
+}
+
+// text returns an Integer in decimal, or false if it has more than MaxDigits
+// digits.
+func (a Integer) text() (string, bool) {
+	if a.isSmall() {
+		return strconv.FormatInt(a.small, 10), true
+	}
+	text, ok := a.size.text()
+	if !ok {
+		return "", false
+	}
+	if a.small < 0 {
+		text = "-" + text
+	}
+	return text, true
 }
 
 // text returns the digits of a natural, or false if there are more than

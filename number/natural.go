@@ -1,4 +1,4 @@
-package exact
+package number
 
 import "math/bits"
 

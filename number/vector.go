@@ -1,0 +1,27 @@
+package number
+
+// Dot returns the sum of the products of the elements of two slices of the
+// same length.
+func Dot(a, b []Integer) Integer {
+	var out Integer
+	for i, x := range a {
+		if !x.IsZero() && !b[i].IsZero() {
+			out = out.Plus(x.Times(b[i]))
+		}
+	}
+	return out
+}
+
+// Scaled returns integers, and the least number by which all of them are to be
+// divided to get the elements of v.
+func Scaled(v []Ratio) ([]Integer, Integer) {
+	common := Of(1)
+	for _, x := range v {
+		common = x.Den().DividedBy(Divisor(x.Den(), common)).Times(common)
+	}
+	out := make([]Integer, len(v))
+	for i, x := range v {
+		out[i] = x.num.Times(common.DividedBy(x.Den()))
+	}
+	return out, common
+}
