@@ -31,10 +31,7 @@ func Curve(p api.Program, row int, low, high api.Num) ([]api.Corner, api.Errno) 
 	if e != api.OK {
 		return nil, e
 	}
-	order, e := exact.Cmp(low, high)
-	if e != api.OK {
-		return nil, e
-	}
+	order, _ := exact.Cmp(low, high) // They are valid, as read has found.
 	if row < 0 || row >= len(q.rows) || !areShort(low, high) || order > 0 {
 		return nil, api.ErrArg
 	}

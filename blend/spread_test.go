@@ -107,3 +107,20 @@ func TestSpreadsOfLargerPrograms(t *testing.T) {
 		}
 	}
 }
+
+// What is no result may be too long: here a number that limits the variable only
+// together with what has no end.
+func TestEndlessBesideLongNumbers(t *testing.T) {
+	p, x := longestChain()
+	p, x = lengthened(p, x, api.MaxDigits-sizeOf(x[len(x)-1])+40)
+	n := len(x)
+	for k := range p.Rows {
+		p.Rows[k].Coef = append(p.Rows[k].Coef, "0")
+	}
+	p.Cost = append(p.Cost, "0")
+	p.Cost[n-1] = "-1"
+	expectSpread(t, p, n, "0", "")
+	expectSpread(t, p, 0, "1", "1")
+	expectSpreadError(t, p, n-1, api.ErrRange)
+	expectRange(t, p)
+}

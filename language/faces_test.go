@@ -145,4 +145,7 @@ func TestLimits(t *testing.T) {
 	if api.MaxDigits != 4000 || api.MaxRows != 12 || api.ErrForm != 2 || api.ErrArg != 1 || api.ErrZero != 4 || api.ErrRange != 5 || api.ErrNone != 6 {
 		t.Error("package api has changed")
 	}
+	if api.MaxVars != 32 || api.MaxLimits != 48 || api.AtMost != 1 || api.AtLeast != 2 || api.Equal != 3 || api.Optimal != 1 || api.Infeasible != 2 || api.Unbounded != 3 {
+		t.Error("package api has changed")
+	}
 }

@@ -100,6 +100,12 @@ func TestScaledAndDot(t *testing.T) {
 			}
 		}
 		whole, common := Scaled(v)
+		least := big.NewInt(1)
+		for _, x := range v {
+			den := toRat(x).Denom()
+			least.Div(new(big.Int).Mul(least, den), new(big.Int).GCD(nil, nil, least, den))
+		}
+		expectInteger(t, "the factor", common, least)
 		want := new(big.Rat)
 		for i, x := range whole {
 			expectRatio(t, "Scaled", New(x, common), toRat(v[i]))
