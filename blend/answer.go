@@ -31,8 +31,8 @@ func write(a answer) (api.Answer, api.Errno) {
 // optimum returns the answer of a settled tableau that does not depend on the
 // bound.
 func (t *tableau) optimum() answer {
-	out := answer{kind: api.Optimal, value: t.value(), y: t.weights(t.costRow(), t.cost.factor)}
-	for i := range t.cost.coef {
+	out := answer{kind: api.Optimal, value: t.value(), y: t.weights(t.costRow(), t.cost.Factor)}
+	for i := range t.cost.Coef {
 		_, near := t.amountOf(i)
 		out.x = append(out.x, near)
 	}
@@ -50,7 +50,7 @@ func (t *tableau) refusal(row int) answer {
 func (t *tableau) descent() answer {
 	out := answer{kind: api.Unbounded}
 	bound := t.leastBound()
-	for i := range t.cost.coef {
+	for i := range t.cost.Coef {
 		far, near := t.amountOf(i)
 		out.x = append(out.x, near.Plus(far.Times(bound)))
 		out.ray = append(out.ray, far)
@@ -80,7 +80,7 @@ func (t *tableau) isUnbounded() bool { return !t.cells[t.costRow()][farColumn].I
 // value returns the cost, if it does not depend on the bound.
 func (t *tableau) value() number.Ratio {
 	_, near := t.amount(t.costRow())
-	return number.New(near, t.scale(t.costRow()).Times(t.cost.factor))
+	return number.New(near, t.scale(t.costRow()).Times(t.cost.Factor))
 }
 
 // amountOf returns the value of a variable of the program: its multiple of the
@@ -106,10 +106,10 @@ func (t *tableau) weights(row int, by number.Integer) []number.Ratio {
 		case row:
 			weight = t.cells[row][scaleColumn].Negated()
 		}
-		if r.kind == api.AtMost {
+		if r.Kind == api.AtMost {
 			weight = weight.Negated()
 		}
-		out[k] = number.New(weight.Times(r.factor), t.cells[row][scaleColumn].Times(by))
+		out[k] = number.New(weight.Times(r.Factor), t.cells[row][scaleColumn].Times(by))
 	}
 	return out
 }

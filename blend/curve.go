@@ -5,6 +5,7 @@ import (
 
 	"cracknel/api"
 	"cracknel/exact"
+	"cracknel/linear"
 	"cracknel/number"
 )
 
@@ -36,11 +37,11 @@ func Curve(p api.Program, row int, low, high api.Num) ([]api.Corner, api.Errno) 
 		return nil, api.ErrArg
 	}
 	t := newTableau(q.varied(row))
-	first, ok := t.touchAt(ratio(low))
+	first, ok := t.touchAt(number.Value(low))
 	if !ok {
 		return nil, api.ErrNone
 	}
-	last, ok := t.touchAt(ratio(high))
+	last, ok := t.touchAt(number.Value(high))
 	if !ok {
 		return nil, api.ErrNone
 	}
@@ -49,10 +50,10 @@ func Curve(p api.Program, row int, low, high api.Num) ([]api.Corner, api.Errno) 
 
 // varied returns the program with the parameter as the right side of a row.
 func (p program) varied(k int) program {
-	rows := make([]row, len(p.rows))
+	rows, growth := make([]linear.Row, len(p.rows)), make([]number.Integer, len(p.rows))
 	copy(rows, p.rows)
-	rows[k].right, rows[k].growth = number.Integer{}, rows[k].factor
-	return program{p.cost, rows}
+	rows[k].Right, growth[k] = number.Integer{}, rows[k].Factor
+	return program{p.cost, rows, growth}
 }
 
 // touchAt settles the tableau at a parameter, or returns false if there is no
@@ -63,7 +64,7 @@ func (t *tableau) touchAt(at number.Ratio) (touch, bool) {
 		return touch{}, false
 	}
 	cells := t.cells[t.costRow()]
-	slope := number.New(cells[timesColumn], cells[scaleColumn].Times(t.cost.factor))
+	slope := number.New(cells[timesColumn], cells[scaleColumn].Times(t.cost.Factor))
 	return touch{at, t.value(), slope}, true
 }
 

@@ -5,6 +5,7 @@ import (
 
 	"cracknel/api"
 	"cracknel/exact"
+	"cracknel/linear"
 	"cracknel/number"
 )
 
@@ -12,25 +13,11 @@ import (
 // may have.
 const mostDigits = 40
 
-// A form is a linear function of the variables, and a right side, multiplied
-// by a factor that makes integers of them.
-type form struct {
-	coef   []number.Integer
-	right  number.Integer
-	growth number.Integer // what the parameter adds to the right side, times itself
-	factor number.Integer // above 0
-}
-
-// A row is a form that is at most, at least or equal to its right side.
-type row struct {
-	form
-	kind int
-}
-
 // A program is a valid api.Program. Its cost has the right side 0.
 type program struct {
-	cost form
-	rows []row
+	cost   linear.Form
+	rows   []linear.Row
+	growth []number.Integer // what the parameter adds to each right side, times itself
 }
 
 // read reads a program: ErrForm if a Num is not valid, one of its own or of some
@@ -42,11 +29,8 @@ func read(p api.Program, others ...api.Num) (program, api.Errno) {
 	if !isValid(p) {
 		return program{}, api.ErrArg
 	}
-	out := program{cost: newForm(p.Cost, "0")}
-	for _, r := range p.Rows {
-		out.rows = append(out.rows, row{newForm(r.Coef, r.Right), r.Kind})
-	}
-	return out, api.OK
+	growth := make([]number.Integer, len(p.Rows))
+	return program{linear.NewForm(p.Cost, "0"), linear.Rows(p), growth}, api.OK
 }
 
 // numsOf returns all Nums of a program.
@@ -92,26 +76,6 @@ func areShort(nums ...api.Num) bool {
 		}
 	}
 	return true
-}
-
-func newForm(coef []api.Num, right api.Num) form {
-	values := append(ratios(coef), ratio(right))
-	whole, factor := number.Scaled(values)
-	return form{coef: whole[:len(coef)], right: whole[len(coef)], factor: factor}
-}
-
-// ratio returns the value of a valid Num.
-func ratio(x api.Num) number.Ratio {
-	value, _ := number.Parse(x)
-	return value
-}
-
-func ratios(nums []api.Num) []number.Ratio {
-	out := make([]number.Ratio, len(nums))
-	for i, x := range nums {
-		out[i] = ratio(x)
-	}
-	return out
 }
 
 // texts returns values as Nums: ErrRange if one has too many digits.

@@ -2,6 +2,7 @@ package blend
 
 import (
 	"cracknel/api"
+	"cracknel/linear"
 	"cracknel/number"
 )
 
@@ -30,7 +31,7 @@ func numsIn(a api.Answer) []api.Num {
 // hasFields reports whether an answer has the fields of its kind, of the right
 // lengths, and no others.
 func (p program) hasFields(a api.Answer) bool {
-	variables, rows := len(p.cost.coef), len(p.rows)
+	variables, rows := len(p.cost.Coef), len(p.rows)
 	switch a.Kind {
 	case api.Optimal:
 		return len(a.X) == variables && len(a.Y) == rows && len(a.Ray) == 0
@@ -46,30 +47,30 @@ func (p program) hasFields(a api.Answer) bool {
 func (p program) isRight(a api.Answer) bool {
 	switch a.Kind {
 	case api.Optimal:
-		return p.isBest(ratios(a.X), ratios(a.Y), ratio(a.Value))
+		return p.isBest(number.Values(a.X), number.Values(a.Y), number.Value(a.Value))
 	case api.Infeasible:
-		return p.isRefused(ratios(a.Y))
+		return p.isRefused(number.Values(a.Y))
 	}
-	x, scale := number.Scaled(ratios(a.X))
-	ray, _ := number.Scaled(ratios(a.Ray))
-	return p.holds(x, scale) && p.holds(ray, number.Integer{}) && number.Dot(p.cost.coef, ray).Sign() < 0
+	x, scale := number.Scaled(number.Values(a.X))
+	ray, _ := number.Scaled(number.Values(a.Ray))
+	return p.holds(x, scale) && p.holds(ray, number.Integer{}) && number.Dot(p.cost.Coef, ray).Sign() < 0
 }
 
 // isBest reports whether x is feasible, y proves that no point costs less than
 // the value, and x costs no more.
 func (p program) isBest(x, y []number.Ratio, value number.Ratio) bool {
 	point, scale := number.Scaled(x)
-	sum := p.combined(y)
-	return p.holds(point, scale) && p.haveSigns(y) && sum.isAtMost(p.cost) &&
-		isQuotient(value, number.Dot(p.cost.coef, point), p.cost.factor.Times(scale)) &&
-		isQuotient(value, sum.right, sum.factor)
+	sum := linear.Combined(p.rows, y, len(p.cost.Coef))
+	return p.holds(point, scale) && linear.HaveSigns(p.rows, y) && isAtMost(sum, p.cost) &&
+		isQuotient(value, number.Dot(p.cost.Coef, point), p.cost.Factor.Times(scale)) &&
+		isQuotient(value, sum.Right, sum.Factor)
 }
 
 // isRefused reports whether y proves that no point is feasible.
 func (p program) isRefused(y []number.Ratio) bool {
-	sum := p.combined(y)
-	nothing := form{coef: make([]number.Integer, len(sum.coef)), factor: number.Of(1)}
-	return p.haveSigns(y) && sum.isAtMost(nothing) && sum.right.Sign() > 0
+	sum := linear.Combined(p.rows, y, len(p.cost.Coef))
+	nothing := linear.Form{Coef: make([]number.Integer, len(sum.Coef)), Factor: number.Of(1)}
+	return linear.HaveSigns(p.rows, y) && isAtMost(sum, nothing) && sum.Right.Sign() > 0
 }
 
 // isQuotient reports whether a value is num/den; den is above 0.
@@ -86,45 +87,17 @@ func (p program) holds(x []number.Integer, scale number.Integer) bool {
 		}
 	}
 	for _, r := range p.rows {
-		order := number.Dot(r.coef, x).Compare(r.right.Times(scale))
-		if order < 0 && r.kind != api.AtMost || order > 0 && r.kind != api.AtLeast {
+		if !r.Allows(r.Gap(x, scale).Sign()) {
 			return false
 		}
 	}
 	return true
 }
 
-// haveSigns reports whether multipliers have the right signs.
-func (p program) haveSigns(y []number.Ratio) bool {
-	for k, r := range p.rows {
-		if r.kind == api.AtMost && y[k].Sign() > 0 || r.kind == api.AtLeast && y[k].Sign() < 0 {
-			return false
-		}
-	}
-	return true
-}
-
-// combined returns the sum of the rows, multiplied by multipliers.
-func (p program) combined(y []number.Ratio) form {
-	quotients := make([]number.Ratio, len(y))
-	for k, r := range p.rows {
-		quotients[k] = y[k].Over(number.Whole(r.factor))
-	}
-	weights, scale := number.Scaled(quotients)
-	out := form{coef: make([]number.Integer, len(p.cost.coef)), factor: scale}
-	for k, r := range p.rows {
-		for i, x := range r.coef {
-			out.coef[i] = out.coef[i].Plus(x.Times(weights[k]))
-		}
-		out.right = out.right.Plus(r.right.Times(weights[k]))
-	}
-	return out
-}
-
-// isAtMost reports whether no coefficient is above that of another form.
-func (f form) isAtMost(other form) bool {
-	for i, x := range f.coef {
-		if x.Times(other.factor).Compare(other.coef[i].Times(f.factor)) > 0 {
+// isAtMost reports whether no coefficient of a form is above that of another one.
+func isAtMost(f, other linear.Form) bool {
+	for i, x := range f.Coef {
+		if x.Times(other.Factor).Compare(other.Coef[i].Times(f.Factor)) > 0 {
 			return false
 		}
 	}

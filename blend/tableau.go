@@ -62,24 +62,24 @@ func newTableau(p program, given ...goal) *tableau {
 	t.places = make([]place, t.costVariable()+1)
 	t.goals = append(t.goals, goal{variable: t.costVariable()})
 	t.goals = append(t.goals, given...)
-	for i := range p.cost.coef {
+	for i := range p.cost.Coef {
 		t.goals = append(t.goals, goal{variable: i})
 		t.outside = append(t.outside, i)
 		t.places[i] = place{-1, firstColumn + i}
 	}
 	for k, r := range p.rows {
-		cells := t.addRow(t.gap(k), r.coef)
-		cells[nearColumn], cells[timesColumn] = r.right.Negated(), r.growth.Negated()
-		if r.kind == api.AtMost {
+		cells := t.addRow(t.gap(k), r.Coef)
+		cells[nearColumn], cells[timesColumn] = r.Right.Negated(), p.growth[k].Negated()
+		if r.Kind == api.AtMost {
 			negate(cells[farColumn:])
 		}
 	}
-	t.addRow(t.costVariable(), p.cost.coef)
+	t.addRow(t.costVariable(), p.cost.Coef)
 	t.bound()
 	return t
 }
 
-func (t *tableau) gap(row int) int { return len(t.cost.coef) + row }
+func (t *tableau) gap(row int) int { return len(t.cost.Coef) + row }
 
 func (t *tableau) boundGap() int { return t.gap(len(t.rows)) }
 
@@ -90,7 +90,7 @@ func (t *tableau) costRow() int { return t.places[t.costVariable()].row }
 // isFixed reports whether a variable is to be 0.
 func (t *tableau) isFixed(variable int) bool {
 	k := variable - t.gap(0)
-	return k >= 0 && k < len(t.rows) && t.rows[k].kind == api.Equal
+	return k >= 0 && k < len(t.rows) && t.rows[k].Kind == api.Equal
 }
 
 // addRow adds a variable to the basis, as a function of those outside.

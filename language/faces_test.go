@@ -148,4 +148,7 @@ func TestLimits(t *testing.T) {
 	if api.MaxVars != 32 || api.MaxLimits != 48 || api.AtMost != 1 || api.AtLeast != 2 || api.Equal != 3 || api.Optimal != 1 || api.Infeasible != 2 || api.Unbounded != 3 {
 		t.Error("package api has changed")
 	}
+	if api.MaxWhole != 6 || api.MaxBox != 1000000 || api.MaxNodes != 10000 || api.MaxSizes != 8 || api.MaxSize != 2000 || api.MaxTotal != 1000000 || api.Split != 1 || api.Bound != 2 || api.Empty != 3 || api.ErrLong != 3 {
+		t.Error("package api has changed")
+	}
 }

@@ -68,14 +68,17 @@ func allowedImports() []string {
 	return strings.Fields("bytes cmp container/heap errors iter maps math math/bits slices sort strconv strings sync sync/atomic unicode unicode/utf8")
 }
 
-// layers returns for each package the layers that it calls. (Package number is
-// no layer: it is arithmetic that any of them may call.)
+// layers returns for each package the layers that it calls, and for those that
+// are no layers nothing.
 func layers() map[string]string {
 	return map[string]string{
-		"api": "", "number": "", "exact": "", "blend": "exact", "whole": "exact blend", "shape": "", "tile": "exact", "line": "exact",
+		"api": "", "number": "", "linear": "", "exact": "", "blend": "exact", "whole": "exact blend", "shape": "", "tile": "exact", "line": "exact",
 		"recipe": "exact", "shop": "exact blend", "mirror": "", "works": "exact blend whole shape tile line recipe shop mirror",
 	}
 }
+
+// isShared reports whether a package is no layer, but what any of them may call.
+func isShared(pack string) bool { return pack == "api" || pack == "number" || pack == "linear" }
 
 func TestImports(t *testing.T) {
 	for _, s := range sources(t) {
@@ -89,7 +92,7 @@ func TestImports(t *testing.T) {
 			switch {
 			case !isOwn && !slices.Contains(allowedImports(), path):
 				s.errorf(t, spec, "import of "+path)
-			case isOwn && isLayer && own != "api" && own != "number" && !slices.Contains(strings.Fields(calls), own):
+			case isOwn && isLayer && !isShared(own) && !slices.Contains(strings.Fields(calls), own):
 				s.errorf(t, spec, s.pack+" does not call "+own)
 			}
 		}
@@ -266,5 +269,42 @@ func TestWaysOfBlend(t *testing.T) {
 	}
 	if !hasWay(t, "blend", isYielding) || !hasWay(t, "blend", isCopy) {
 		t.Error("blend has no function to be ranged over, or copies nothing")
+	}
+}
+
+// Layer 3 panics with a type of its own, and recovers in a deferred function
+// literal.
+func TestWaysOfWhole(t *testing.T) {
+	isOwnPanic := func(n ast.Node) bool {
+		x, ok := n.(*ast.CallExpr)
+		if !ok || len(x.Args) != 1 {
+			return false
+		}
+		f, ok := x.Fun.(*ast.Ident)
+		value, isLiteral := x.Args[0].(*ast.CompositeLit)
+		if !ok || f.Name != "panic" || !isLiteral {
+			return false
+		}
+		name, ok := value.Type.(*ast.Ident)
+		return ok && !name.IsExported()
+	}
+	isRecovery := func(n ast.Node) bool {
+		x, ok := n.(*ast.DeferStmt)
+		if !ok {
+			return false
+		}
+		literal, ok := x.Call.Fun.(*ast.FuncLit)
+		found := false
+		if ok {
+			ast.Inspect(literal, func(n ast.Node) bool {
+				f, ok := n.(*ast.Ident)
+				found = found || ok && f.Name == "recover"
+				return !found
+			})
+		}
+		return found
+	}
+	if !hasWay(t, "whole", isOwnPanic) || !hasWay(t, "whole", isRecovery) {
+		t.Error("whole has no panic of its own, or does not recover in a deferred function literal")
 	}
 }

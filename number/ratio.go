@@ -109,6 +109,12 @@ func Parse(x api.Num) (Ratio, bool) {
 	return Ratio{num, den}, true
 }
 
+// Value returns a valid Num as a Ratio.
+func Value(x api.Num) Ratio {
+	out, _ := Parse(x)
+	return out
+}
+
 // Text returns a Ratio as a Num, or false if its numerator or its denominator
 // has more than MaxDigits digits.
 func (a Ratio) Text() (api.Num, bool) {

@@ -1,5 +1,16 @@
 package number
 
+import "cracknel/api"
+
+// Values returns valid Nums as Ratios.
+func Values(nums []api.Num) []Ratio {
+	out := make([]Ratio, len(nums))
+	for i, x := range nums {
+		out[i] = Value(x)
+	}
+	return out
+}
+
 // Dot returns the sum of the products of the elements of two slices of the
 // same length.
 func Dot(a, b []Integer) Integer {
