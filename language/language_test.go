@@ -8,6 +8,7 @@ import (
 	"go/format"
 	"go/parser"
 	"go/token"
+	"go/types"
 	"os"
 	"path/filepath"
 	"slices"
@@ -306,5 +307,77 @@ func TestWaysOfWhole(t *testing.T) {
 	}
 	if !hasWay(t, "whole", isOwnPanic) || !hasWay(t, "whole", isRecovery) {
 		t.Error("whole has no panic of its own, or does not recover in a deferred function literal")
+	}
+}
+
+// onlyAPI imports package api alone: others are not looked at, and what
+// is of their types is not known.
+type onlyAPI struct{ api *types.Package }
+
+func (o onlyAPI) Import(path string) (*types.Package, error) {
+	if path == "cracknel/api" && o.api != nil {
+		return o.api, nil
+	}
+	return nil, os.ErrNotExist
+}
+
+// typed returns what is known of the types in a package's text.
+func typed(t *testing.T, pack string) (types.Info, []*ast.File) {
+	t.Helper()
+	check := func(pack string, known onlyAPI) (*types.Package, types.Info, []*ast.File) {
+		set, info := token.NewFileSet(), types.Info{Types: map[ast.Expr]types.TypeAndValue{}}
+		var files []*ast.File
+		for _, s := range sources(t) {
+			if s.pack != pack {
+				continue
+			}
+			file, err := parser.ParseFile(set, s.path, s.text, 0)
+			if err != nil {
+				t.Fatal(err)
+			}
+			files = append(files, file)
+		}
+		config := types.Config{Importer: known, Error: func(error) {}}
+		out, _ := config.Check("cracknel/"+pack, set, files, &info)
+		return out, info, files
+	}
+	api, _, _ := check("api", onlyAPI{})
+	_, info, files := check(pack, onlyAPI{api})
+	return info, files
+}
+
+// Layer 4 compares points as structs, and visits corners by a range over an
+// integer.
+func TestWaysOfShape(t *testing.T) {
+	info, files := typed(t, "shape")
+	isCompared, isRanged := false, false
+	for _, file := range files {
+		ast.Inspect(file, func(n ast.Node) bool {
+			switch x := n.(type) {
+			case *ast.BinaryExpr:
+				named, ok := info.Types[x.X].Type.(*types.Named)
+				isPoint := ok && named.Obj().Name() == "Point"
+				isCompared = isCompared || isPoint && (x.Op == token.EQL || x.Op == token.NEQ)
+			case *ast.RangeStmt:
+				basic, ok := info.Types[x.X].Type.(*types.Basic)
+				isRanged = isRanged || ok && basic.Info()&types.IsInteger != 0
+			}
+			return true
+		})
+	}
+	if !isCompared || !isRanged {
+		t.Error("shape does not compare points as structs, or has no range over an integer")
+	}
+}
+
+// Chapter 4 allows no other package of the project but api, not even those that
+// layers share.
+func TestImportsOfShape(t *testing.T) {
+	for _, s := range sources(t) {
+		for _, spec := range s.file.Imports {
+			if s.pack == "shape" && strings.HasPrefix(spec.Path.Value, `"cracknel/`) && spec.Path.Value != `"cracknel/api"` {
+				s.errorf(t, spec, "shape uses no other package but api")
+			}
+		}
 	}
 }
