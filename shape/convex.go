@@ -96,8 +96,8 @@ func sum(a, b []api.Point) []api.Point {
 }
 
 // areApart reports whether the interiors of convex polygons in counterclockwise
-// order have no point in common. One of both may be an edge: its two points, of
-// which none may be in the other one's interior.
+// order have no point in common. One of them may be an edge, as its two points:
+// then it reports whether the edge does not pass through the other one's interior.
 func areApart(a, b []api.Point) bool { return hasBeyond(a, b) || hasBeyond(b, a) }
 
 // hasBeyond reports whether an edge of a has no point of b to its left. If no

@@ -89,13 +89,12 @@ func borderPoints(p []api.Point) int {
 	count := 0
 	for i := range len(p) {
 		a, b := edge(p, i)
-		count += divisor(distance(b.X-a.X), distance(b.Y-a.Y))
+		count += divisor(absolute(b.X-a.X), absolute(b.Y-a.Y))
 	}
 	return count
 }
 
-// distance returns the distance of a number from 0.
-func distance(n int) int { return max(n, -n) }
+func absolute(n int) int { return max(n, -n) }
 
 // divisor returns the greatest common divisor of two numbers, one of which may
 // be 0.

@@ -48,7 +48,7 @@ func isTriangulation(p []api.Point, triangles [][3]int) bool {
 	if len(triangles) != len(p)-2 {
 		return false
 	}
-	area := distance(area2(p))
+	area := absolute(area2(p))
 	var parts [][]api.Point
 	for _, t := range triangles {
 		if t[0] < 0 || t[0] >= t[1] || t[1] >= t[2] || t[2] >= len(p) {

@@ -64,7 +64,11 @@ func TestShows(t *testing.T) {
 		// Triangles of the area 0, also where others have what is cut off at a straight corner.
 		{straight, [][3]int{{0, 1, 2}, {0, 2, 3}, {0, 3, 4}}, true}, {straight, [][3]int{{0, 1, 2}, {0, 2, 4}, {2, 3, 4}}, true}, {straight, [][3]int{{0, 1, 4}, {1, 2, 3}, {1, 3, 4}}, true},
 		{straight, [][3]int{{0, 1, 2}, {0, 1, 4}, {2, 3, 4}}, false}, {straight, [][3]int{{0, 1, 2}, {0, 1, 2}, {0, 2, 3}}, false}, {straight, [][3]int{{0, 1, 4}, {1, 2, 4}, {2, 3, 4}}, true},
-		// Two of three are enough, if one beside them has no area: here it is outside, too.
+		// The areas add up, but numbers are the same, not rising, or of no points.
+		{straight, [][3]int{{0, 2, 3}, {0, 3, 4}, {0, 0, 1}}, false}, {straight, [][3]int{{0, 2, 3}, {0, 3, 4}, {0, 1, 1}}, false}, {straight, [][3]int{{2, 2, 2}, {0, 2, 3}, {0, 3, 4}}, false},
+		{straight, [][3]int{{0, 2, 3}, {0, 2, 1}, {0, 3, 4}}, false}, {straight, [][3]int{{0, 2, 3}, {0, 3, 4}, {1, 0, 2}}, false}, {straight, [][3]int{{0, 3, 2}, {0, 3, 4}, {0, 1, 2}}, false},
+		{straight, [][3]int{{0, 2, 3}, {0, 3, 4}, {0, 4, 5}}, false}, {straight, [][3]int{{0, 2, 3}, {0, 3, 4}, {-1, 0, 1}}, false},
+		// One triangle is enough, if one beside it has no area.
 		{poly("0 0, 2 0, 4 0, 2 2"), [][3]int{{0, 1, 2}, {0, 2, 3}}, true}, {poly("0 0, 2 0, 4 0, 2 2"), [][3]int{{0, 1, 3}, {1, 2, 3}}, true}, {poly("0 0, 2 0, 4 0, 2 2"), [][3]int{{0, 1, 2}, {0, 1, 3}}, false},
 		// The bay's triangle is as large as another one.
 		{bay, [][3]int{{0, 1, 6}, {0, 6, 7}, {1, 2, 6}, {2, 5, 6}, {2, 3, 5}, {3, 4, 5}}, true}, {bay, [][3]int{{0, 1, 6}, {4, 6, 7}, {1, 2, 6}, {2, 5, 6}, {2, 3, 5}, {3, 4, 5}}, false},
