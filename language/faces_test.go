@@ -151,6 +151,9 @@ func TestLimits(t *testing.T) {
 	if api.MaxWhole != 6 || api.MaxBox != 1000000 || api.MaxNodes != 10000 || api.MaxSizes != 8 || api.MaxSize != 2000 || api.MaxTotal != 1000000 || api.Split != 1 || api.Bound != 2 || api.Empty != 3 || api.ErrLong != 3 {
 		t.Error("package api has changed")
 	}
+	if api.MaxSide != 6 || api.MaxCutters != 8 || api.MaxCells != 6 {
+		t.Error("package api has changed")
+	}
 	if api.MaxCorners != 32 || api.MaxCoord != 10000 || api.MaxSheet != 100 || api.MaxNest != 16 {
 		t.Error("package api has changed")
 	}

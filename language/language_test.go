@@ -381,3 +381,35 @@ func TestImportsOfShape(t *testing.T) {
 		}
 	}
 }
+
+// Layer 5 keeps the number of tilings of what is left in a map whose keys are
+// arrays, and compares arrays.
+func TestWaysOfTile(t *testing.T) {
+	info, files := typed(t, "tile")
+	isArray := func(of types.Type) bool {
+		if of == nil {
+			return false
+		}
+		_, ok := of.Underlying().(*types.Array)
+		return ok
+	}
+	isKept, isCompared := false, false
+	for _, file := range files {
+		ast.Inspect(file, func(n ast.Node) bool {
+			switch x := n.(type) {
+			case *ast.IndexExpr:
+				if of := info.Types[x.X].Type; of != nil {
+					m, ok := of.Underlying().(*types.Map)
+					isKept = isKept || ok && isArray(m.Key())
+				}
+			case *ast.BinaryExpr:
+				isEqual := x.Op == token.EQL || x.Op == token.NEQ
+				isCompared = isCompared || isEqual && isArray(info.Types[x.X].Type)
+			}
+			return true
+		})
+	}
+	if !isKept || !isCompared {
+		t.Error("tile has no map whose keys are arrays, or compares no arrays")
+	}
+}
