@@ -154,6 +154,9 @@ func TestLimits(t *testing.T) {
 	if api.MaxSide != 6 || api.MaxCutters != 8 || api.MaxCells != 6 {
 		t.Error("package api has changed")
 	}
+	if api.MaxStates != 16 || api.MaxArcs != 256 || api.MaxTime != 1000000 || api.MaxSteps != 100000 || api.MaxPlant != 8 || api.MaxTrays != 100 || api.MaxItems != 1000 {
+		t.Error("package api has changed")
+	}
 	if api.MaxCorners != 32 || api.MaxCoord != 10000 || api.MaxSheet != 100 || api.MaxNest != 16 {
 		t.Error("package api has changed")
 	}

@@ -413,3 +413,19 @@ func TestWaysOfTile(t *testing.T) {
 		t.Error("tile has no map whose keys are arrays, or compares no arrays")
 	}
 }
+
+// Layer 6 powers by a generic function anything that can be multiplied, and goes
+// on to the next node by a labelled continue.
+func TestWaysOfLine(t *testing.T) {
+	isGeneric := func(n ast.Node) bool {
+		x, ok := n.(*ast.FuncDecl)
+		return ok && x.Type.TypeParams != nil
+	}
+	isLabelled := func(n ast.Node) bool {
+		x, ok := n.(*ast.BranchStmt)
+		return ok && x.Tok == token.CONTINUE && x.Label != nil
+	}
+	if !hasWay(t, "line", isGeneric) || !hasWay(t, "line", isLabelled) {
+		t.Error("line has no generic function, or no labelled continue")
+	}
+}
