@@ -1,8 +1,6 @@
 package blend
 
 import (
-	"strings"
-
 	"cracknel/api"
 	"cracknel/exact"
 	"cracknel/linear"
@@ -70,8 +68,7 @@ func isValid(p api.Program) bool {
 // have.
 func areShort(nums ...api.Num) bool {
 	for _, x := range nums {
-		top, bottom, _ := strings.Cut(strings.TrimPrefix(string(x), "-"), "/")
-		if len(top) > mostDigits || len(bottom) > mostDigits {
+		if number.Digits(x) > mostDigits {
 			return false
 		}
 	}

@@ -2,6 +2,7 @@ package exact
 
 import (
 	"cracknel/api"
+	"cracknel/lattice"
 	"cracknel/number"
 )
 
@@ -58,26 +59,20 @@ func (q equations) solve() ([]number.Integer, matrix, bool) {
 	// A row of this basis is a combination of columns of a and, behind it,
 	// the factors that make it; where the former is zero, these are a solution
 	// of a·x = 0.
-	all := newBasis(q.a.transposed().withUnits())
-	var kernel basis
-	for k, column := range all.pivots {
-		if column >= rows {
-			kernel.rows = append(kernel.rows, all.rows[k][rows:])
-			kernel.pivots = append(kernel.pivots, column-rows)
-		}
-	}
+	all := lattice.New(q.a.transposed().withUnits())
+	kernel := all.From(rows)
 	v := make([]number.Integer, rows+q.a.columns())
 	copy(v, q.b)
-	all.reduce(v, 0)
-	if leads(v) < rows {
+	all.Reduce(v)
+	if lattice.Zeros(v) < rows {
 		return nil, nil, false
 	}
 	x := v[rows:]
 	for i := range x {
 		x[i] = x[i].Negated()
 	}
-	kernel.reduce(x, 0)
-	return x, kernel.rows, true
+	kernel.Reduce(x)
+	return x, kernel.Rows, true
 }
 
 // Refuse returns multipliers that prove that there is no integer solution.
@@ -96,21 +91,21 @@ func Refuse(a [][]api.Num, b []api.Num) ([]api.Num, api.Errno) {
 // refuse returns multipliers, each 0 or more and less than 1, or false if
 // there is a solution.
 func (q equations) refuse() ([]number.Ratio, bool) {
-	columns := newBasis(q.a.transposed())
+	columns := lattice.New(q.a.transposed())
 	rest := append([]number.Integer(nil), q.b...)
-	columns.reduce(rest, 0)
-	at := leads(rest)
+	columns.Reduce(rest)
+	at := lattice.Zeros(rest)
 	if at == len(rest) {
 		return nil, false
 	}
 	// The product of w with rest is scale·rest[at]; with a row of the basis it
 	// is 0 or, for a row whose pivot is in that column, scale·pivot, of which
 	// scale·rest[at] is no multiple.
-	w, scale := number.Scaled(columns.orthogonal(len(rest), at))
+	w, scale := number.Scaled(orthogonal(columns, len(rest), at))
 	var all number.Integer
-	for k, column := range columns.pivots {
+	for k, column := range columns.Pivots {
 		if column == at {
-			all = scale.Times(columns.rows[k][at])
+			all = scale.Times(columns.Rows[k][at])
 		}
 	}
 	modulus := separator(all, scale.Times(rest[at]))
@@ -122,21 +117,22 @@ func (q equations) refuse() ([]number.Ratio, bool) {
 	return y, true
 }
 
-// orthogonal returns a vector of that width whose product with every row whose
-// pivot is before a column is 0, with 1 in that column and nothing behind it.
-func (b *basis) orthogonal(width, at int) []number.Ratio {
+// orthogonal returns a vector of that width whose product with every row of a
+// basis whose pivot is before a column is 0, with 1 in that column and nothing
+// behind it.
+func orthogonal(b lattice.Basis, width, at int) []number.Ratio {
 	y := make([]number.Ratio, width)
 	y[at] = number.Whole(number.Of(1))
-	for k := len(b.pivots) - 1; k >= 0; k-- {
-		column := b.pivots[k]
+	for k := len(b.Pivots) - 1; k >= 0; k-- {
+		column := b.Pivots[k]
 		if column >= at {
 			continue
 		}
 		var sum number.Ratio
 		for j := column + 1; j <= at; j++ {
-			sum = sum.Plus(y[j].Times(number.Whole(b.rows[k][j])))
+			sum = sum.Plus(y[j].Times(number.Whole(b.Rows[k][j])))
 		}
-		y[column] = sum.Over(number.Whole(b.rows[k][column])).Negated()
+		y[column] = sum.Over(number.Whole(b.Rows[k][column])).Negated()
 	}
 	return y
 }

@@ -2,6 +2,7 @@ package exact
 
 import (
 	"cracknel/api"
+	"cracknel/lattice"
 	"cracknel/number"
 )
 
@@ -21,21 +22,21 @@ func Smith(a [][]api.Num) ([]api.Num, api.Errno) {
 // turns: the first pivot becomes a proper divisor of itself each time, until
 // it divides its row and stands alone; then so does the next one.
 func (m matrix) diagonal() []number.Integer {
-	b := newBasis(m)
-	for !b.isDiagonal() {
-		b = newBasis(b.rows.transposed())
+	b := lattice.New(m)
+	for !isDiagonal(b) {
+		b = lattice.New(matrix(b.Rows).transposed())
 	}
-	out := make([]number.Integer, len(b.rows))
-	for i, column := range b.pivots {
-		out[i] = b.rows[i][column]
+	out := make([]number.Integer, len(b.Rows))
+	for i, column := range b.Pivots {
+		out[i] = b.Rows[i][column]
 	}
 	return out
 }
 
-// isDiagonal reports whether all entries but the pivots are 0.
-func (b *basis) isDiagonal() bool {
-	for i, row := range b.rows {
-		if leads(row[b.pivots[i]+1:]) < len(row)-b.pivots[i]-1 {
+// isDiagonal reports whether all entries of a basis but its pivots are 0.
+func isDiagonal(b lattice.Basis) bool {
+	for i, row := range b.Rows {
+		if lattice.Zeros(row[b.Pivots[i]+1:]) < len(row)-b.Pivots[i]-1 {
 			return false
 		}
 	}

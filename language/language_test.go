@@ -73,13 +73,15 @@ func allowedImports() []string {
 // are no layers nothing.
 func layers() map[string]string {
 	return map[string]string{
-		"api": "", "number": "", "linear": "", "exact": "", "blend": "exact", "whole": "exact blend", "shape": "", "tile": "exact", "line": "exact",
+		"api": "", "number": "", "lattice": "", "linear": "", "exact": "", "blend": "exact", "whole": "exact blend", "shape": "", "tile": "exact", "line": "exact",
 		"recipe": "exact", "shop": "exact blend", "mirror": "", "works": "exact blend whole shape tile line recipe shop mirror",
 	}
 }
 
 // isShared reports whether a package is no layer, but what any of them may call.
-func isShared(pack string) bool { return pack == "api" || pack == "number" || pack == "linear" }
+func isShared(pack string) bool {
+	return slices.Contains([]string{"api", "number", "lattice", "linear"}, pack)
+}
 
 func TestImports(t *testing.T) {
 	for _, s := range sources(t) {
@@ -427,5 +429,25 @@ func TestWaysOfLine(t *testing.T) {
 	}
 	if !hasWay(t, "line", isGeneric) || !hasWay(t, "line", isLabelled) {
 		t.Error("line has no generic function, or no labelled continue")
+	}
+}
+
+// Layer 7 has nodes of several types that implement one interface, tells them apart
+// by a type switch, and numbers the kinds of tokens with iota.
+func TestWaysOfRecipe(t *testing.T) {
+	isInterface := func(n ast.Node) bool {
+		x, ok := n.(*ast.InterfaceType)
+		return ok && x.Methods.NumFields() > 0
+	}
+	isTypeSwitch := func(n ast.Node) bool {
+		x, ok := n.(*ast.TypeSwitchStmt)
+		return ok && len(x.Body.List) > 3
+	}
+	isIota := func(n ast.Node) bool {
+		x, ok := n.(*ast.Ident)
+		return ok && x.Name == "iota"
+	}
+	if !hasWay(t, "recipe", isInterface) || !hasWay(t, "recipe", isTypeSwitch) || !hasWay(t, "recipe", isIota) {
+		t.Error("recipe has no interface, no type switch, or no iota")
 	}
 }

@@ -13,6 +13,13 @@ const (
 	wordValues = 10_000_000_000_000_000_000
 )
 
+// Digits returns how many digits a valid Num has in its numerator or in its
+// denominator, whichever has more of them.
+func Digits(x api.Num) int {
+	top, bottom, _ := strings.Cut(strings.TrimPrefix(string(x), "-"), "/")
+	return max(len(top), len(bottom))
+}
+
 // parseNatural reads a number of 1 to MaxDigits digits without leading zeros.
 func parseNatural(s string) (natural, bool) {
 	if s == "" || len(s) > api.MaxDigits || s[0] == '0' && len(s) > 1 {
@@ -58,6 +65,20 @@ func (a Integer) text() (string, bool) {
 		text = "-" + text
 	}
 	return text, true
+}
+
+// isShort reports whether an Integer has at most MaxDigits digits.
+func (a Integer) isShort() bool {
+	bits := a.size.bits()
+	// A digit is log2(10) bits, which is between 3.32192 and 3.32193.
+	if a.isSmall() || bits*100000 <= api.MaxDigits*332192 {
+		return true
+	}
+	if (bits-1)*100000 >= api.MaxDigits*332193 {
+		return false
+	}
+	_, ok := a.text()
+	return ok
 }
 
 // text returns the digits of a natural, or false if there are more than

@@ -153,6 +153,20 @@ func (a Integer) Times(b Integer) Integer {
 	return newInteger(isNegative, a.magnitude().times(b.magnitude()))
 }
 
+// power returns a to the power of n, which is 0 or more.
+func (a Integer) power(n int) Integer {
+	out := Of(1)
+	for ; n > 0; n /= 2 {
+		if n%2 == 1 {
+			out = out.Times(a)
+		}
+		if n > 1 {
+			a = a.Times(a)
+		}
+	}
+	return out
+}
+
 // Over returns the greatest integer that is not above a/b, and the remainder,
 // which has the sign of b. b is not 0.
 func (a Integer) Over(b Integer) (Integer, Integer) {

@@ -75,6 +75,16 @@ func (a Ratio) Over(b Ratio) Ratio {
 	return Ratio{top.num.Times(bottom.num), top.den.Times(bottom.den)}
 }
 
+// Power returns a to the power of n: 1 if n is 0, whatever a is. If n is below 0, a
+// is not 0.
+func (a Ratio) Power(n int) Ratio {
+	if n < 0 {
+		a, n = New(a.Den(), a.num), -n
+	}
+	// Powers of numbers without a common divisor have none, either.
+	return Ratio{a.num.power(n), a.Den().power(n)}
+}
+
 // Compare returns -1, 0 or 1, as a is less than, equal to or greater than b.
 func (a Ratio) Compare(b Ratio) int {
 	return a.num.Times(b.Den()).Compare(b.num.Times(a.Den()))
@@ -114,6 +124,10 @@ func Value(x api.Num) Ratio {
 	out, _ := Parse(x)
 	return out
 }
+
+// IsShort reports whether numerator and denominator have at most MaxDigits
+// digits: it does not write them, but where it must.
+func (a Ratio) IsShort() bool { return a.num.isShort() && a.den.isShort() }
 
 // Text returns a Ratio as a Num, or false if its numerator or its denominator
 // has more than MaxDigits digits.

@@ -89,6 +89,54 @@ func TestTextsOfManyDigits(t *testing.T) {
 	}
 }
 
+// A number is short exactly if it has a text, and Digits says how long that is.
+func TestLengths(t *testing.T) {
+	r := rand.New(rand.NewSource(4))
+	for _, size := range []int{1, 5, 18, 19, 20, 40, api.MaxDigits - 1, api.MaxDigits} {
+		for _, first := range []string{"1", "2", "5", "9"} {
+			text := api.Num(first + strings.Repeat("0", size-1))
+			for _, x := range []api.Num{text, "-" + text, text + "/7", "1/" + text, "-7/1" + api.Num(strings.Repeat("0", size-1))} {
+				a, ok := Parse(x)
+				if ok && (!a.IsShort() || Digits(x) != size) {
+					t.Errorf("%.30s.. of %d digits: %t, %d", x, size, a.IsShort(), Digits(x))
+				}
+			}
+		}
+	}
+	ten, _ := Parse(api.Num("1" + strings.Repeat("0", api.MaxDigits-1)))
+	for range 200 {
+		a := ten.Times(Whole(Of(r.Intn(12) + 1))).Minus(Whole(Of(r.Intn(3))))
+		for _, x := range []Ratio{a, a.Negated(), New(Of(1), a.Num()), New(a.Num(), a.Num().Plus(Of(1)))} {
+			if _, ok := x.Text(); x.IsShort() != ok {
+				t.Fatalf("IsShort of about 10^%d: %t", api.MaxDigits, x.IsShort())
+			}
+		}
+	}
+	if !(Ratio{}).IsShort() || ten.Times(ten).IsShort() || New(Of(1), ten.Times(ten).Num()).IsShort() {
+		t.Error("IsShort of other numbers")
+	}
+}
+
+func TestPowers(t *testing.T) {
+	r := rand.New(rand.NewSource(5))
+	for range 3000 {
+		a, n := someRatio(r), r.Intn(25)-12
+		if a.IsZero() {
+			n = max(n, -n)
+		}
+		want := big.NewRat(1, 1)
+		for range max(n, -n) {
+			want.Mul(want, toRat(a))
+		}
+		if n < 0 {
+			want.Inv(want)
+		}
+		expectRatio(t, "Power", a.Power(n), want)
+	}
+	expectRatio(t, "Power", Ratio{}.Power(0), big.NewRat(1, 1))
+	expectRatio(t, "Power", Ratio{}.Power(3), new(big.Rat))
+}
+
 func TestScaledAndDot(t *testing.T) {
 	r := rand.New(rand.NewSource(3))
 	for range 2000 {
