@@ -2,6 +2,7 @@ package blend
 
 import (
 	"cracknel/api"
+	"cracknel/linear"
 	"cracknel/number"
 )
 
@@ -62,7 +63,7 @@ func (t *tableau) descent() answer {
 // more.
 func (t *tableau) leastBound() number.Ratio {
 	var out number.Ratio
-	for row, variable := range t.basis {
+	for row, variable := range t.Basis {
 		far, near := t.amount(row)
 		if variable == t.costVariable() || far.IsZero() {
 			continue
@@ -75,7 +76,7 @@ func (t *tableau) leastBound() number.Ratio {
 }
 
 // isUnbounded reports whether the cost depends on the bound.
-func (t *tableau) isUnbounded() bool { return !t.cells[t.costRow()][farColumn].IsZero() }
+func (t *tableau) isUnbounded() bool { return !t.Cells[t.costRow()][farColumn].IsZero() }
 
 // value returns the cost, if it does not depend on the bound.
 func (t *tableau) value() number.Ratio {
@@ -102,14 +103,14 @@ func (t *tableau) weights(row int, by number.Integer) []number.Ratio {
 		var weight number.Integer
 		switch at := t.places[t.gap(k)]; at.row {
 		case -1:
-			weight = t.cells[row][at.column]
+			weight = t.Cells[row][at.column]
 		case row:
-			weight = t.cells[row][scaleColumn].Negated()
+			weight = t.Cells[row][linear.ScaleColumn].Negated()
 		}
 		if r.Kind == api.AtMost {
 			weight = weight.Negated()
 		}
-		out[k] = number.New(weight.Times(r.Factor), t.cells[row][scaleColumn].Times(by))
+		out[k] = number.New(weight.Times(r.Factor), t.Cells[row][linear.ScaleColumn].Times(by))
 	}
 	return out
 }

@@ -63,8 +63,8 @@ func (t *tableau) touchAt(at number.Ratio) (touch, bool) {
 	if t.settle() >= 0 || t.isUnbounded() {
 		return touch{}, false
 	}
-	cells := t.cells[t.costRow()]
-	slope := number.New(cells[timesColumn], cells[scaleColumn].Times(t.cost.Factor))
+	cells := t.Cells[t.costRow()]
+	slope := number.New(cells[timesColumn], cells[linear.ScaleColumn].Times(t.cost.Factor))
 	return touch{at, t.value(), slope}, true
 }
 

@@ -14,7 +14,7 @@ func (t *tableau) settle() int {
 		if row < 0 || column < 0 {
 			return row
 		}
-		t.pivot(row, column)
+		t.exchange(row, column)
 	}
 }
 
@@ -26,7 +26,7 @@ func (t *tableau) settle() int {
 // and avoids the thousands of steps on which simpler rules can be led.
 func (t *tableau) nextStep() (row, column int) {
 	row, column = -1, -1
-	for r, variable := range t.basis {
+	for r, variable := range t.Basis {
 		sign := t.sign(r)
 		isWrong := sign < 0 || sign > 0 && t.isFixed(variable)
 		if !isWrong || variable == t.costVariable() {
@@ -48,9 +48,9 @@ func (t *tableau) nextStep() (row, column int) {
 // is none.
 func (t *tableau) entering(row, direction int) int {
 	found := -1
-	for i, variable := range t.outside {
+	for i, variable := range t.Outside {
 		column := firstColumn + i
-		if t.cells[row][column].Sign() != direction || t.isFixed(variable) {
+		if t.Cells[row][column].Sign() != direction || t.isFixed(variable) {
 			continue
 		}
 		if found < 0 || t.isCheaper(row, column, found) {
@@ -64,7 +64,7 @@ func (t *tableau) entering(row, direction int) int {
 // gain of a row's variable, in the first goal in which their losses differ. In
 // some goal they do, because the goals determine all variables.
 func (t *tableau) isCheaper(row, column, other int) bool {
-	gain, otherGain := t.cells[row][column], t.cells[row][other]
+	gain, otherGain := t.Cells[row][column], t.Cells[row][other]
 	for _, g := range t.goals {
 		loss, otherLoss := t.loss(g, column), t.loss(g, other)
 		if loss.IsZero() && otherLoss.IsZero() {
@@ -82,7 +82,7 @@ func (t *tableau) isCheaper(row, column, other int) bool {
 // than another step does, in the first goal in which they differ, or, if they do
 // not differ, whether its variable is farther from what it is to be.
 func (t *tableau) isLonger(row, column, otherRow, otherColumn int) bool {
-	size, otherSize := t.cells[row][column].Size(), t.cells[otherRow][otherColumn].Size()
+	size, otherSize := t.Cells[row][column].Size(), t.Cells[otherRow][otherColumn].Size()
 	for _, g := range t.goals {
 		loss, otherLoss := t.loss(g, column), t.loss(g, otherColumn)
 		if loss.IsZero() && otherLoss.IsZero() {
@@ -124,7 +124,7 @@ func (t *tableau) loss(g goal, column int) number.Integer {
 	var out number.Integer
 	at := t.places[g.variable]
 	if at.row >= 0 {
-		out = t.cells[at.row][column]
+		out = t.Cells[at.row][column]
 	} else if at.column == column {
 		out = number.Of(1)
 	}
@@ -138,7 +138,7 @@ func (t *tableau) loss(g goal, column int) number.Integer {
 // the one that does so the most as large as the bound: from then on no column
 // makes the goals better.
 func (t *tableau) bound() {
-	coef := make([]number.Integer, len(t.outside))
+	coef := make([]number.Integer, len(t.Outside))
 	isNeeded := false
 	for i := range coef {
 		if t.firstLoss(firstColumn+i) < 0 {
@@ -147,9 +147,9 @@ func (t *tableau) bound() {
 		}
 	}
 	if isNeeded {
-		row := len(t.basis)
+		row := len(t.Basis)
 		t.addRow(t.boundGap(), coef)[farColumn] = number.Of(1)
-		t.pivot(row, t.entering(row, -1))
+		t.exchange(row, t.entering(row, -1))
 	}
 }
 

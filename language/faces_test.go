@@ -160,6 +160,9 @@ func TestLimits(t *testing.T) {
 	if api.MaxUnits != 4 || api.MaxDefs != 32 || api.MaxParams != 4 || api.MaxTokens != 128 || api.MaxPower != 9 || api.MaxFuel != 100000 || api.MaxSource != 8192 || api.MaxName != 12 || api.ErrFull != 8 || api.ErrType != 12 || api.ErrName != 13 {
 		t.Error("package api has changed")
 	}
+	if api.MaxShop != 8 || api.MaxWork != 1000 {
+		t.Error("package api has changed")
+	}
 	if api.MaxCorners != 32 || api.MaxCoord != 10000 || api.MaxSheet != 100 || api.MaxNest != 16 {
 		t.Error("package api has changed")
 	}

@@ -327,7 +327,8 @@ func (o onlyAPI) Import(path string) (*types.Package, error) {
 func typed(t *testing.T, pack string) (types.Info, []*ast.File) {
 	t.Helper()
 	check := func(pack string, known onlyAPI) (*types.Package, types.Info, []*ast.File) {
-		set, info := token.NewFileSet(), types.Info{Types: map[ast.Expr]types.TypeAndValue{}}
+		set := token.NewFileSet()
+		info := types.Info{Types: map[ast.Expr]types.TypeAndValue{}, Selections: map[*ast.SelectorExpr]*types.Selection{}}
 		var files []*ast.File
 		for _, s := range sources(t) {
 			if s.pack != pack {
@@ -449,5 +450,37 @@ func TestWaysOfRecipe(t *testing.T) {
 	}
 	if !hasWay(t, "recipe", isInterface) || !hasWay(t, "recipe", isTypeSwitch) || !hasWay(t, "recipe", isIota) {
 		t.Error("recipe has no interface, no type switch, or no iota")
+	}
+}
+
+// Layer 8 searches machines by a method value; its matchings and its tables with
+// windows share an embedded table, whose methods are promoted.
+func TestWaysOfShop(t *testing.T) {
+	info, files := typed(t, "shop")
+	isValue, embedding := false, map[string]bool{}
+	isPromoted := map[string]bool{}
+	for _, file := range files {
+		ast.Inspect(file, func(n ast.Node) bool {
+			switch x := n.(type) {
+			case *ast.CallExpr:
+				for _, argument := range x.Args {
+					at, ok := argument.(*ast.SelectorExpr)
+					of := info.Selections[at]
+					isValue = isValue || ok && of != nil && of.Kind() == types.MethodVal
+				}
+			case *ast.TypeSpec:
+				if of, ok := x.Type.(*ast.StructType); ok && len(of.Fields.List[0].Names) == 0 {
+					embedding[x.Name.Name] = true
+				}
+			case *ast.SelectorExpr:
+				if of := info.Selections[x]; of != nil && of.Kind() == types.MethodVal && len(of.Index()) > 1 {
+					isPromoted[types.TypeString(of.Recv(), func(*types.Package) string { return "" })] = true
+				}
+			}
+			return true
+		})
+	}
+	if !isValue || !embedding["matching"] || !embedding["windowed"] || !isPromoted["*matching"] || !isPromoted["windowed"] {
+		t.Errorf("shop: a method value %t, embedding in %v, promoted methods of %v", isValue, embedding, isPromoted)
 	}
 }

@@ -162,3 +162,17 @@ func TestScaledAndDot(t *testing.T) {
 		expectRatio(t, "Dot", New(Dot(whole, whole), common.Times(common)), want)
 	}
 }
+
+func TestSums(t *testing.T) {
+	r := rand.New(rand.NewSource(4))
+	for range 2000 {
+		v := make([]Ratio, r.Intn(9))
+		want := new(big.Rat)
+		for i := range v {
+			v[i] = someRatio(r)
+			want.Add(want, toRat(v[i]))
+		}
+		expectRatio(t, "Sum", Sum(v), want)
+	}
+	expectRatio(t, "Sum", Sum(nil), new(big.Rat))
+}

@@ -36,3 +36,16 @@ func Scaled(v []Ratio) ([]Integer, Integer) {
 	}
 	return out, common
 }
+
+// Sum returns the sum of numbers. It adds sums of halves, so that most of the sums
+// are short, if the numbers are.
+func Sum(v []Ratio) Ratio {
+	switch len(v) {
+	case 0:
+		return Ratio{}
+	case 1:
+		return v[0]
+	}
+	half := len(v) / 2
+	return Sum(v[:half]).Plus(Sum(v[half:]))
+}
