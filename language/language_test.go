@@ -373,13 +373,14 @@ func TestWaysOfShape(t *testing.T) {
 	}
 }
 
-// Chapter 4 allows no other package of the project but api, not even those that
-// layers share.
-func TestImportsOfShape(t *testing.T) {
+// Chapters 4 and 9 allow no other package of the project but api, not even those
+// that layers share.
+func TestImportsOfShapeAndMirror(t *testing.T) {
 	for _, s := range sources(t) {
 		for _, spec := range s.file.Imports {
-			if s.pack == "shape" && strings.HasPrefix(spec.Path.Value, `"cracknel/`) && spec.Path.Value != `"cracknel/api"` {
-				s.errorf(t, spec, "shape uses no other package but api")
+			isAlone := s.pack == "shape" || s.pack == "mirror"
+			if isAlone && strings.HasPrefix(spec.Path.Value, `"cracknel/`) && spec.Path.Value != `"cracknel/api"` {
+				s.errorf(t, spec, s.pack+" uses no other package but api")
 			}
 		}
 	}
@@ -482,5 +483,40 @@ func TestWaysOfShop(t *testing.T) {
 	}
 	if !isValue || !embedding["matching"] || !embedding["windowed"] || !isPromoted["*matching"] || !isPromoted["windowed"] {
 		t.Errorf("shop: a method value %t, embedding in %v, promoted methods of %v", isValue, embedding, isPromoted)
+	}
+}
+
+// Layer 9 has a table of functions that decode records, ranges over the map that is
+// a quorum, and drops disks from it.
+func TestWaysOfMirror(t *testing.T) {
+	info, files := typed(t, "mirror")
+	isMap := func(e ast.Expr) bool {
+		of := info.Types[e].Type
+		if of == nil {
+			return false
+		}
+		_, ok := of.Underlying().(*types.Map)
+		return ok
+	}
+	isTable, isRanged, isDropped := false, false, false
+	for _, file := range files {
+		ast.Inspect(file, func(n ast.Node) bool {
+			switch x := n.(type) {
+			case *ast.StructType:
+				isTable = isTable || slices.ContainsFunc(x.Fields.List, func(f *ast.Field) bool {
+					_, ok := f.Type.(*ast.FuncType)
+					return ok
+				})
+			case *ast.RangeStmt:
+				isRanged = isRanged || isMap(x.X)
+			case *ast.CallExpr:
+				f, ok := x.Fun.(*ast.Ident)
+				isDropped = isDropped || ok && f.Name == "delete" && isMap(x.Args[0])
+			}
+			return true
+		})
+	}
+	if !isTable || !isRanged || !isDropped {
+		t.Errorf("mirror: a field that is a function %t, a map that is ranged over %t, delete %t", isTable, isRanged, isDropped)
 	}
 }
