@@ -166,6 +166,9 @@ func TestLimits(t *testing.T) {
 	if api.MaxDisk != 65536 || api.MaxText != 100 || api.OK != 0 || api.ErrState != 7 || api.ErrDown != 9 || api.ErrLost != 10 || api.ErrFew != 11 {
 		t.Error("package api has changed")
 	}
+	if api.MaxLine != 4096 || api.MaxLines != 2000 {
+		t.Error("package api has changed")
+	}
 	if api.MaxCorners != 32 || api.MaxCoord != 10000 || api.MaxSheet != 100 || api.MaxNest != 16 {
 		t.Error("package api has changed")
 	}

@@ -520,3 +520,29 @@ func TestWaysOfMirror(t *testing.T) {
 		t.Errorf("mirror: a field that is a function %t, a map that is ranged over %t, delete %t", isTable, isRanged, isDropped)
 	}
 }
+
+// Layer 10 keeps its commands in a table of method expressions, and tells words apart
+// by a switch whose cases fall through.
+func TestWaysOfWorks(t *testing.T) {
+	info, files := typed(t, "works")
+	expressions, isFalling := 0, false
+	for _, file := range files {
+		ast.Inspect(file, func(n ast.Node) bool {
+			switch x := n.(type) {
+			case *ast.CompositeLit:
+				for _, e := range x.Elts {
+					at, ok := e.(*ast.SelectorExpr)
+					if of := info.Selections[at]; ok && of != nil && of.Kind() == types.MethodExpr {
+						expressions++
+					}
+				}
+			case *ast.BranchStmt:
+				isFalling = isFalling || x.Tok == token.FALLTHROUGH
+			}
+			return true
+		})
+	}
+	if expressions < 36 || !isFalling {
+		t.Errorf("works: %d method expressions in tables, fallthrough %t", expressions, isFalling)
+	}
+}
