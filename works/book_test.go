@@ -128,7 +128,7 @@ func TestUnitsOfRecipe(t *testing.T) {
 	expect(t, w, "recipe unit x", "! 8\n")
 	expect(t, w, "scale x 2", "! 13\n")
 	do(t, w, "recipe let all = 1 [m n^2 o^-1 p^0] * 1 [p]")
-	expect(t, w, "value all", "value "+"45/2"+"\nm 1\nn 2\no -1\np 1\n") // 2 * 9 / 4 * 5
+	expect(t, w, "value all", "value 45/2\nm 1\nn 2\no -1\np 1\n") // 2 * 9 / 4 * 5
 	expect(t, w, "type all", "params 0\nm 1\nn 2\no -1\np 1\n")
 }
 
